@@ -1,0 +1,75 @@
+package nal_test
+
+import (
+	"bytes"
+	"fmt"
+
+	"zoetrope/api"
+)
+
+// The model says by the chapter's words alone what stands where.
+
+const begin = "\x00\x00\x01"
+
+// wantEscaped: behind what ends in two bytes 0, as it is written, a 3 ahead of
+// a byte from 0 to 3.
+func wantEscaped(s string) string {
+	var out []byte
+	for i := range len(s) {
+		if bytes.HasSuffix(out, []byte{0, 0}) && s[i] <= 3 {
+			out = append(out, 3)
+		}
+		out = append(out, s[i])
+	}
+	return string(out)
+}
+
+// wantPacked: a byte Ref times 32 and Type, and the bytes escaped.
+func wantPacked(u api.Unit) string {
+	return string([]byte{byte(32*u.Ref + u.Type)}) + wantEscaped(u.Rbsp)
+}
+
+// shown: what is held against each other, quoted, and no more of it than can be read.
+func shown(x any) string {
+	return fmt.Sprintf("%.300s", fmt.Sprintf("%q", x))
+}
+
+// texts: all of at most most bytes from 0 to 4, the shorter ahead.
+func texts(most int) []string {
+	all := []string{""}
+	for from := 0; most > 0; most-- {
+		till := len(all)
+		for _, s := range all[from:till] {
+			for c := range 5 {
+				all = append(all, s+string([]byte{byte(c)}))
+			}
+		}
+		from = till
+	}
+	return all
+}
+
+// chance is a row of numbers, the same in each run.
+type chance uint64
+
+func (c *chance) below(n int) int {
+	*c = *c*6364136223846793005 + 1442695040888963407
+	return int(uint64(*c) >> 33 % uint64(n))
+}
+
+// text: up to most bytes, most of them small.
+func (c *chance) text(most int) string {
+	out := make([]byte, c.below(most+1))
+	for i := range out {
+		out[i] = byte(max(0, c.below(7)-2))
+		if c.below(16) == 0 {
+			out[i] = byte(c.below(256))
+		}
+	}
+	return string(out)
+}
+
+// unit: any that may be packed.
+func (c *chance) unit(most int) api.Unit {
+	return api.Unit{Ref: c.below(4), Type: 1 + c.below(31), Rbsp: c.text(most)}
+}
