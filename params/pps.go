@@ -9,10 +9,11 @@ const biPredBits = 2
 
 // MayPps tells if p may be.
 func MayPps(p api.Pps) bool {
-	return ranges.of(biPred).holds(p.BiPred) &&
-		ranges.of(qp).holds(p.Qp) &&
-		ranges.of(chromaQp).holds(p.ChromaQp) &&
-		ranges.of(pictures).holds(p.Active0, p.Active1)
+	k := new(keeper)
+	return k.of(biPred).holds(p.BiPred) &&
+		k.of(qp).holds(p.Qp) &&
+		k.of(chromaQp).holds(p.ChromaQp) &&
+		k.of(pictures).holds(p.Active0, p.Active1)
 }
 
 // PutPps writes p as bytes. Whatever may be is a number of its code, so that

@@ -38,15 +38,14 @@ const (
 	kinds
 )
 
-// keeper owns the table of ranges.
+// keeper owns the table of ranges. Each call that asks for a range makes a
+// keeper of its own, so that nothing stays from call to call.
 type keeper struct {
 	once  sync.Once
 	table [kinds]span
 }
 
-var ranges = keeper{}
-
-// of: the range of a kind. The first one who asks makes the table.
+// of: the range of a kind. The first time that one is asked for makes the table.
 func (k *keeper) of(which kind) span {
 	k.once.Do(func() {
 		k.table = [kinds]span{

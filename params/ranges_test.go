@@ -17,7 +17,7 @@ func TestRangesAreMadeOnce(t *testing.T) {
 	if made != 0 || k.of(qp) != (span{5, 6}) {
 		t.Error("made again")
 	}
-	if ranges.of(qp) != (span{0, 51}) {
+	if new(keeper).of(qp) != (span{0, 51}) {
 		t.Error("another's table")
 	}
 }
@@ -26,6 +26,7 @@ func TestRangesAreMadeOnce(t *testing.T) {
 func TestRangesAtOneTime(t *testing.T) {
 	var k keeper
 	var all sync.WaitGroup
+	var other keeper
 	var got [8][kinds]span
 	for i := range got {
 		all.Go(func() {
@@ -37,7 +38,7 @@ func TestRangesAtOneTime(t *testing.T) {
 	all.Wait()
 	for i := range got {
 		for which, s := range got[i] {
-			if s.least >= s.most || s != ranges.of(kind(which)) {
+			if s.least >= s.most || s != other.of(kind(which)) {
 				t.Errorf("kind %d: %v", which, s)
 			}
 		}

@@ -14,13 +14,18 @@ const (
 
 // MaySps tells if s may be.
 func MaySps(s api.Sps) bool {
-	return ranges.of(side).holds(s.Wide, s.High) &&
-		ranges.of(counter).holds(s.FrameBits, s.PocBits) &&
-		ranges.of(pocType).holds(s.PocType) &&
-		ranges.of(cycleSize).holds(len(s.Cycle)) &&
-		ranges.of(pocStep).holds(s.NonRef) &&
-		ranges.of(pocStep).holds(s.Cycle...) &&
-		ranges.of(pictures).holds(s.Refs) &&
+	return new(keeper).maySps(s)
+}
+
+// maySps tells if s is within the ranges and fits its PocType.
+func (k *keeper) maySps(s api.Sps) bool {
+	return k.of(side).holds(s.Wide, s.High) &&
+		k.of(counter).holds(s.FrameBits, s.PocBits) &&
+		k.of(pocType).holds(s.PocType) &&
+		k.of(cycleSize).holds(len(s.Cycle)) &&
+		k.of(pocStep).holds(s.NonRef) &&
+		k.of(pocStep).holds(s.Cycle...) &&
+		k.of(pictures).holds(s.Refs) &&
 		span{0, s.Refs}.holds(s.Delay) &&
 		fitsPocType(s)
 }
@@ -70,6 +75,7 @@ func putCycle(w *bits.Writer, s api.Sps) {
 
 // GetSps reads the parameters that PutSps writes as s.
 func GetSps(s string) (api.Sps, api.Errno) {
+	k := new(keeper)
 	r := &reads{from: bits.Open(s)}
 	got := api.Sps{PocBits: leastBits}
 	got.Wide = r.ue() + 1
@@ -83,7 +89,7 @@ func GetSps(s string) (api.Sps, api.Errno) {
 		got.NonRef = r.se()
 		n := r.ue()
 		// Told ahead of what follows, so that a great n is not read through.
-		if !ranges.of(cycleSize).holds(n) {
+		if !k.of(cycleSize).holds(n) {
 			return api.Sps{}, api.ErrParamsRange
 		}
 		for range n {
@@ -92,5 +98,5 @@ func GetSps(s string) (api.Sps, api.Errno) {
 	}
 	got.Refs = r.ue()
 	got.Delay = r.ue()
-	return ended(r, got, MaySps)
+	return ended(r, got, k.maySps)
 }
