@@ -98,7 +98,7 @@ func (s *sources) touched(n ast.Node) []ast.Expr {
 	case *ast.RangeStmt:
 		return []ast.Expr{n.Key, n.Value}
 	case *ast.SliceExpr:
-		if _, whole := s.info.TypeOf(n.X).Underlying().(*types.Array); whole {
+		if s.whole(n.X) {
 			return []ast.Expr{n.X}
 		}
 	case *ast.UnaryExpr:
@@ -111,6 +111,17 @@ func (s *sources) touched(n ast.Node) []ast.Expr {
 		}
 	}
 	return nil
+}
+
+// whole tells if x is an array, of which a slice takes the address. What is
+// not known, since it comes from elsewhere, is taken for one.
+func (s *sources) whole(x ast.Expr) bool {
+	of := s.info.TypeOf(x)
+	if of == nil {
+		return true
+	}
+	_, is := of.Underlying().(*types.Array)
+	return is
 }
 
 // byAddress tells if a method takes the address of what it is called of.
