@@ -7,6 +7,7 @@ import (
 
 	"zoetrope/api"
 	"zoetrope/bits"
+	"zoetrope/dice"
 )
 
 // item is a number and the code that it is written by.
@@ -42,15 +43,15 @@ func (i item) get(r *bits.Reader) (int, api.Errno) {
 
 // anyItem: a number of any of the codes.
 func anyItem(c *chance) item {
-	n := c.below(33)
-	x := (c.below(1<<16)<<16 | c.below(1<<16)) & (1<<n - 1)
-	switch kind := c.below(4); kind {
+	n := c.Below(33)
+	x := (c.Below(1<<16)<<16 | c.Below(1<<16)) & (1<<n - 1)
+	switch kind := c.Below(4); kind {
 	case 1:
 		return item{kind, min(x, greatestUe), 0}
 	case 2:
-		return item{kind, (x % (greatestSe + 1)) * (1 - 2*c.below(2)), 0}
+		return item{kind, (x % (greatestSe + 1)) * (1 - 2*c.Below(2)), 0}
 	case 3:
-		most := 1 + c.below(1<<(1+c.below(20)))
+		most := 1 + c.Below(1<<(1+c.Below(20)))
 		return item{kind, x % (most + 1), most}
 	}
 	return item{0, x, n}
@@ -110,9 +111,9 @@ func TestSmallBack(t *testing.T) {
 
 // P1.3: rows of any numbers.
 func TestRowsBack(t *testing.T) {
-	c := chance(11)
+	c := chance{11}
 	for range 3000 {
-		items := make([]item, c.below(40))
+		items := make([]item, c.Below(40))
 		for i := range items {
 			items[i] = anyItem(&c)
 		}
@@ -124,7 +125,7 @@ func TestRowsBack(t *testing.T) {
 
 // P1.3: what is read from any bytes is written as it stood.
 func TestReadThenWritten(t *testing.T) {
-	c := chance(5)
+	c := chance{5}
 	for range 5000 {
 		s := c.text(40)
 		r, w := bits.Open(s), bits.New()
@@ -152,7 +153,7 @@ func TestSeveralAtOnce(t *testing.T) {
 	var good [8]bool
 	for k := range good {
 		all.Go(func() {
-			c := chance(k)
+			c := chance{dice.Dice(k)}
 			items := make([]item, 500)
 			for i := range items {
 				items[i] = anyItem(&c)

@@ -6,6 +6,7 @@ import (
 
 	"zoetrope/api"
 	"zoetrope/bits"
+	"zoetrope/dice"
 )
 
 // The model writes bits as a text of '0' and '1', by the chapter's words alone.
@@ -96,20 +97,15 @@ func readUe(row string, most int) (int, int, api.Errno) {
 	return int(x) - 1, 2*n + 1, api.OK
 }
 
-// chance is a row of numbers, the same in each run.
-type chance uint64
-
-func (c *chance) below(n int) int {
-	*c = *c*6364136223846793005 + 1442695040888963407
-	return int(uint64(*c) >> 33 % uint64(n))
-}
+// chance is a row of numbers, and what is made of them.
+type chance struct{ dice.Dice }
 
 // text: up to most bytes, many of them 0.
 func (c *chance) text(most int) string {
-	out := make([]byte, c.below(most+1))
+	out := make([]byte, c.Below(most+1))
 	for i := range out {
-		if c.below(3) == 0 {
-			out[i] = byte(c.below(256))
+		if c.Below(3) == 0 {
+			out[i] = byte(c.Below(256))
 		}
 	}
 	return string(out)

@@ -195,16 +195,16 @@ func TestReadEnds(t *testing.T) {
 
 // P1.2: any reads of any bytes, held against the model.
 func TestReadAnything(t *testing.T) {
-	c := chance(3)
+	c := chance{3}
 	for range 20000 {
 		s := c.text(12)
 		row, r, at := spread(s), bits.Open(s), 0
 		for range 6 {
 			x, size, code := 0, 0, api.OK
 			got, gotCode := 0, api.OK
-			switch c.below(4) {
+			switch c.Below(4) {
 			case 0:
-				n := c.below(33)
+				n := c.Below(33)
 				got, gotCode = r.Bits(n)
 				x, size, code = readPlain(row[at:], n)
 			case 1:
@@ -215,7 +215,7 @@ func TestReadAnything(t *testing.T) {
 				x = turned(x)
 				got, gotCode = r.Se()
 			default:
-				most := 2 + c.below(300)
+				most := 2 + c.Below(300)
 				x, size, code = readUe(row[at:], most)
 				got, gotCode = r.Te(most)
 			}

@@ -212,14 +212,14 @@ func TestBareWriter(t *testing.T) {
 
 // P1.1: a long row, held against the model.
 func TestLongRow(t *testing.T) {
-	c := chance(7)
+	c := chance{7}
 	w := bits.New()
 	var row strings.Builder
 	for range 20000 {
-		x := c.below(1<<30) >> c.below(31)
-		switch c.below(4) {
+		x := c.Below(1<<30) >> c.Below(31)
+		switch c.Below(4) {
 		case 0:
-			n := 30 + c.below(3)
+			n := 30 + c.Below(3)
 			w.Bits(x, n)
 			row.WriteString(plain(x, n))
 		case 1:

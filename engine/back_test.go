@@ -6,6 +6,7 @@ import (
 	"testing"
 
 	"zoetrope/api"
+	"zoetrope/dice"
 	"zoetrope/engine"
 )
 
@@ -37,11 +38,11 @@ func back(all []bin, states []int, behind string) bool {
 
 // P5.4: rows of any calls.
 func TestRowsBack(t *testing.T) {
-	c := chance(5)
+	c := chance{5}
 	for range 3000 {
-		many := c.below(9)
-		all, states := c.calls(c.below(250), many), c.states(many)
-		if !back(all, states, c.text(c.below(3))) {
+		many := c.Below(9)
+		all, states := c.calls(c.Below(250), many), c.Numbers(many, 128)
+		if !back(all, states, c.Text(c.Below(3))) {
 			t.Fatalf("P5.4: %v of %v", all, states)
 		}
 	}
@@ -82,12 +83,12 @@ func TestLongRowsBack(t *testing.T) {
 
 // P5.4: as many bins as a stream's greatest length holds.
 func TestGreatRowBack(t *testing.T) {
-	c := chance(12)
+	c := chance{12}
 	all := make([]bin, 8*api.MaxBytes)
 	for i := range all {
-		all[i] = bin{byContext, c.below(api.Contexts), c.below(2)}
+		all[i] = bin{byContext, c.Below(api.Contexts), c.Below(2)}
 	}
-	if !back(all, c.states(api.Contexts), "") {
+	if !back(all, c.Numbers(api.Contexts, 128), "") {
 		t.Error("P5.4")
 	}
 }
@@ -168,8 +169,8 @@ func TestSeveralAtOnce(t *testing.T) {
 	var good [8]bool
 	for k := range good {
 		all.Go(func() {
-			c := chance(k)
-			good[k] = back(c.calls(3000, 7), c.states(7), "")
+			c := chance{dice.Dice(k)}
+			good[k] = back(c.calls(3000, 7), c.Numbers(7, 128), "")
 		})
 	}
 	all.Wait()
@@ -183,8 +184,8 @@ func TestSeveralAtOnce(t *testing.T) {
 // An Encoder or Decoder may be copied, and laid back to where it was: later
 // layers go back beside an error so.
 func TestLaidBack(t *testing.T) {
-	c := chance(13)
-	states := c.states(api.Contexts)
+	c := chance{13}
+	states := c.Numbers(api.Contexts, 128)
 	ahead, lost, rest := c.calls(50, len(states)), c.calls(50, len(states)), c.calls(50, len(states))
 	e, m := engine.NewEncoder(states), newEncoder(states)
 	for _, x := range ahead {

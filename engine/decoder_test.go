@@ -92,18 +92,18 @@ func TestFirstBits(t *testing.T) {
 // P5.3: any bytes and calls: the bin, At and States behind each, up to the end
 // and beyond it.
 func TestAnyBytes(t *testing.T) {
-	c := chance(1)
+	c := chance{1}
 	ends, over := 0, 0
 	for range 3000 {
-		many := c.below(5)
-		d, m := opened(t, c.text(c.below(30)), c.states(many))
+		many := c.Below(5)
+		d, m := opened(t, c.Text(c.Below(30)), c.Numbers(many, 128))
 		if d == nil {
 			continue
 		}
 		for left := 300; left > 0; left-- {
 			x := c.call(many, 5)
-			if c.below(40) == 0 {
-				x = bin{kind: byContext, ctx: many + c.below(3) - 2*many*c.below(2)}
+			if c.Below(40) == 0 {
+				x = bin{kind: byContext, ctx: many + c.Below(3) - 2*many*c.Below(2)}
 			}
 			switch code := asks(t, "P5.3", d, m, x); {
 			case m.ended:
@@ -123,9 +123,9 @@ func TestAnyBytes(t *testing.T) {
 // P5.3: bits that end anywhere: the call tells it, the Decoder stays as it was,
 // again and again, and calls that need no more bits go on.
 func TestBitsEndAnywhere(t *testing.T) {
-	c := chance(2)
+	c := chance{2}
 	all := c.calls(400, 3)
-	states := c.states(3)
+	states := c.Numbers(3, 128)
 	e := engine.NewEncoder(states)
 	for _, x := range all {
 		x.put(e)
@@ -249,8 +249,8 @@ func TestDecoderHasEnded(t *testing.T) {
 
 // P5.3: At and States ask only.
 func TestAtChangesNothing(t *testing.T) {
-	c := chance(9)
-	s, states := "\x35"+c.text(200), c.states(4)
+	c := chance{9}
+	s, states := "\x35"+c.Text(200), c.Numbers(4, 128)
 	asked, _ := engine.NewDecoder(s, states)
 	left, _ := engine.NewDecoder(s, states)
 	for range 400 {

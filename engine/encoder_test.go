@@ -125,7 +125,7 @@ func TestEncoderOfNoStates(t *testing.T) {
 		if e.Bin(0, 0) != api.ErrEngineForm {
 			t.Error("P5.2: Bin")
 		}
-		c := chance(3)
+		c := chance{3}
 		for _, x := range c.calls(100, 0) {
 			if x.put(e) != api.OK {
 				t.Errorf("P5.2: %v", x)
@@ -139,12 +139,12 @@ func TestEncoderOfNoStates(t *testing.T) {
 // P5.2: Bytes and States behind every call, held against the model; and at the
 // end the bits of the one great number.
 func TestAnyBins(t *testing.T) {
-	c := chance(1)
+	c := chance{1}
 	for range 1500 {
-		many := c.below(6)
-		states := c.states(many)
+		many := c.Below(6)
+		states := c.Numbers(many, 128)
 		e, m := engine.NewEncoder(states), newEncoder(states)
-		all := c.calls(c.below(120), many)
+		all := c.calls(c.Below(120), many)
 		for _, x := range all {
 			if code := x.put(e); code != api.OK {
 				t.Fatalf("P5.2: %v: %d", x, code)
@@ -185,9 +185,9 @@ func TestEveryStateEncoded(t *testing.T) {
 
 // P5.2, R5: beside an error nothing has changed.
 func TestWrongPutsLeaveNothing(t *testing.T) {
-	c := chance(2)
+	c := chance{2}
 	for n := range 100 {
-		states := c.states(3)
+		states := c.Numbers(3, 128)
 		e, m := engine.NewEncoder(states), newEncoder(states)
 		for _, x := range c.calls(n, 3) {
 			x.put(e)
@@ -209,9 +209,9 @@ func TestWrongPutsLeaveNothing(t *testing.T) {
 
 // P5.2: behind a Terminate of 1 each call is an error; Bytes and States stay.
 func TestEncoderHasEnded(t *testing.T) {
-	c := chance(4)
+	c := chance{4}
 	for n := range 30 {
-		e := engine.NewEncoder(c.states(3))
+		e := engine.NewEncoder(c.Numbers(3, 128))
 		for _, x := range c.calls(n, 3) {
 			x.put(e)
 		}
@@ -315,8 +315,8 @@ func TestBothTurns(t *testing.T) {
 
 // P5.2: Bytes and States ask only.
 func TestBytesChangesNothing(t *testing.T) {
-	c := chance(6)
-	states := c.states(4)
+	c := chance{6}
+	states := c.Numbers(4, 128)
 	asked, left := engine.NewEncoder(states), engine.NewEncoder(states)
 	for _, x := range append(c.calls(300, 4), bin{byTerminate, 0, 1}) {
 		x.put(asked)
@@ -332,9 +332,9 @@ func TestBytesChangesNothing(t *testing.T) {
 
 // P5.2: more contexts than the whole program has.
 func TestManyContexts(t *testing.T) {
-	c := chance(8)
+	c := chance{8}
 	for _, many := range []int{255, 256, 257, 600} {
-		states := c.states(many)
+		states := c.Numbers(many, 128)
 		e, m := engine.NewEncoder(states), newEncoder(states)
 		if e.Bin(many, 0) != api.ErrEngineForm {
 			t.Errorf("P5.2: %d", many)

@@ -7,6 +7,7 @@ import (
 
 	"zoetrope/api"
 	"zoetrope/bits"
+	"zoetrope/dice"
 	"zoetrope/head"
 )
 
@@ -27,10 +28,10 @@ func back(h api.Head, u unit, ahead int) bool {
 
 // P4.3: any headers of any parameters.
 func TestAnyBack(t *testing.T) {
-	c := chance(7)
+	c := chance{7}
 	for range 20000 {
 		u := c.unit()
-		if h := c.head(u); !back(h, u, c.below(33)) {
+		if h := c.head(u); !back(h, u, c.Below(33)) {
 			t.Fatalf("P4.3: %s of %+v", shown(h), u)
 		}
 	}
@@ -93,7 +94,7 @@ func asksAny(t *testing.T, row string, u unit) {
 
 // P4.2, P4.3: all texts of two bytes, of the smallest headers' parameters.
 func TestEveryShortText(t *testing.T) {
-	c := chance(8)
+	c := chance{8}
 	units := make([]unit, 16)
 	for i := range units {
 		units[i] = c.unit()
@@ -107,13 +108,13 @@ func TestEveryShortText(t *testing.T) {
 
 // P4.2, P4.3: any bits, and headers' bits with one turned or left out.
 func TestAnyBits(t *testing.T) {
-	c := chance(9)
+	c := chance{9}
 	for range 10000 {
 		u := c.unit()
 		asksAny(t, spread(c.text(20)), u)
 		row := []byte(joined(pieces(c.head(u), u)))
 		asksAny(t, string(row), c.unit())
-		k := c.below(len(row))
+		k := c.Below(len(row))
 		asksAny(t, string(slices.Delete(slices.Clone(row), k, k+1)), u)
 		row[k] ^= 1
 		asksAny(t, string(row), u)
@@ -122,14 +123,14 @@ func TestAnyBits(t *testing.T) {
 
 // P4.2, P4.3: any small numbers by their codes.
 func TestAnyNumbers(t *testing.T) {
-	c := chance(10)
+	c := chance{10}
 	for range 20000 {
 		u := c.unit()
 		h := c.head(u)
 		c.spoil(&h)
-		row := ue(c.below(9), c.below(9), c.below(4))
-		for range c.below(40) {
-			row += ue(c.below(1 << c.below(10)))
+		row := ue(c.Below(9), c.Below(9), c.Below(4))
+		for range c.Below(40) {
+			row += ue(c.Below(1 << c.Below(10)))
 		}
 		asksAny(t, row, u)
 	}
@@ -137,7 +138,7 @@ func TestAnyNumbers(t *testing.T) {
 
 // R4, P4.2: numbers that were handed in stay as they were, with their spare room.
 func TestHandedInIsLeftAlone(t *testing.T) {
-	c := chance(12)
+	c := chance{12}
 	for range 500 {
 		u := c.unit()
 		u.key, u.ref, u.p.Weighted, u.p.BiPred = false, 1, true, 1
@@ -198,7 +199,7 @@ func overwrite(h *api.Head) {
 // R4, R5: an answer is one's own: what is done to it no other answer shows, nor
 // a later one; and no two lists of one answer share any.
 func TestAnswersAreNewMemory(t *testing.T) {
-	c := chance(13)
+	c := chance{13}
 	for range 500 {
 		u := c.unit()
 		h := c.head(u)
@@ -258,7 +259,7 @@ func TestErrorsLeaveNothingBehind(t *testing.T) {
 
 // P4.3: headers one behind another, of one Writer and one Reader.
 func TestRowsOfHeads(t *testing.T) {
-	c := chance(14)
+	c := chance{14}
 	for range 200 {
 		w := bits.New()
 		units, heads := make([]unit, 20), make([]api.Head, 20)
@@ -286,7 +287,7 @@ func TestCallsAtOneTime(t *testing.T) {
 	var good [8]bool
 	for k := range good {
 		all.Go(func() {
-			c := chance(k)
+			c := chance{dice.Dice(k)}
 			for range 300 {
 				if u := c.unit(); !back(c.head(u), u, 0) || !back(shared.h, shared.u, k) {
 					return

@@ -96,7 +96,7 @@ func TestWrittenHeads(t *testing.T) {
 // P4.2: rows that end anywhere, and what the noughts up to a whole byte make
 // of them.
 func TestCutHeads(t *testing.T) {
-	c := chance(5)
+	c := chance{5}
 	cut := func(b base) {
 		row := joined(pieces(b.h, b.u))
 		for k := range row {
@@ -297,7 +297,7 @@ func TestReadAtLimits(t *testing.T) {
 
 // P4.2: no byte at all, noughts and ones without end.
 func TestNoHead(t *testing.T) {
-	c := chance(6)
+	c := chance{6}
 	for range 200 {
 		u := c.unit()
 		asksGet(t, "", 0, u, api.Head{}, 0, api.ErrHeadForm)

@@ -465,7 +465,7 @@ func TestNothingSet(t *testing.T) {
 
 // P4.1: any that may be, and what a number beyond its range makes of it.
 func TestAnyMay(t *testing.T) {
-	c := chance(3)
+	c := chance{3}
 	for range 20000 {
 		u := c.unit()
 		h := c.head(u)
@@ -492,12 +492,12 @@ func (c *chance) spoil(h *api.Head) {
 		fields = append(fields, &h.Ops[i].Kind, &h.Ops[i].A, &h.Ops[i].B)
 	}
 	for _, x := range fields {
-		if c.below(2*len(fields)) == 0 {
-			*x = c.from(-2, 10) * c.from(1, 30)
+		if c.Below(2*len(fields)) == 0 {
+			*x = c.From(-2, 10) * c.From(1, 30)
 		}
 	}
 	for _, on := range []*bool{&h.Spatial, &h.LongKey, &h.Off} {
-		if c.below(20) == 0 {
+		if c.Below(20) == 0 {
 			*on = !*on
 		}
 	}

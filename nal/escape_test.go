@@ -115,7 +115,7 @@ func TestEscapedAll(t *testing.T) {
 // P2.1: longer texts, of all bytes, there and back; and what Unescape takes of
 // any bytes, back and there.
 func TestEscapedAnything(t *testing.T) {
-	c := chance(2)
+	c := chance{2}
 	for range 20000 {
 		s := c.text(60)
 		x := nal.Escape(s)

@@ -5,6 +5,7 @@ import (
 	"fmt"
 
 	"zoetrope/api"
+	"zoetrope/dice"
 )
 
 // The model says by the chapter's words alone what stands where.
@@ -49,21 +50,16 @@ func texts(most int) []string {
 	return all
 }
 
-// chance is a row of numbers, the same in each run.
-type chance uint64
-
-func (c *chance) below(n int) int {
-	*c = *c*6364136223846793005 + 1442695040888963407
-	return int(uint64(*c) >> 33 % uint64(n))
-}
+// chance is a row of numbers, and what is made of them.
+type chance struct{ dice.Dice }
 
 // text: up to most bytes, most of them small.
 func (c *chance) text(most int) string {
-	out := make([]byte, c.below(most+1))
+	out := make([]byte, c.Below(most+1))
 	for i := range out {
-		out[i] = byte(max(0, c.below(7)-2))
-		if c.below(16) == 0 {
-			out[i] = byte(c.below(256))
+		out[i] = byte(max(0, c.Below(7)-2))
+		if c.Below(16) == 0 {
+			out[i] = byte(c.Below(256))
 		}
 	}
 	return string(out)
@@ -71,5 +67,5 @@ func (c *chance) text(most int) string {
 
 // unit: any that may be packed.
 func (c *chance) unit(most int) api.Unit {
-	return api.Unit{Ref: c.below(4), Type: 1 + c.below(31), Rbsp: c.text(most)}
+	return api.Unit{Ref: c.Below(4), Type: 1 + c.Below(31), Rbsp: c.text(most)}
 }

@@ -8,6 +8,7 @@ import (
 	"testing"
 
 	"zoetrope/api"
+	"zoetrope/dice"
 	"zoetrope/nal"
 )
 
@@ -131,11 +132,11 @@ func TestPairsBack(t *testing.T) {
 
 // P2.4: rows of any units.
 func TestRowsBack(t *testing.T) {
-	c := chance(6)
+	c := chance{6}
 	for range 2000 {
-		us := make([]api.Unit, c.below(20))
+		us := make([]api.Unit, c.Below(20))
 		for i := range us {
-			us[i] = c.unit(1 << c.below(8))
+			us[i] = c.unit(1 << c.Below(8))
 		}
 		if !backFromStream(t, us) {
 			return
@@ -173,7 +174,7 @@ func TestSeveralAtOnce(t *testing.T) {
 	var all sync.WaitGroup
 	for k := range 8 {
 		all.Go(func() {
-			c := chance(k)
+			c := chance{dice.Dice(k)}
 			for range 200 {
 				backFromStream(t, []api.Unit{c.unit(100), c.unit(100), c.unit(100)})
 			}

@@ -103,7 +103,7 @@ func TestFirstByteIsNoPartOfTheRest(t *testing.T) {
 
 // P2.2: any units there and back, any bytes back and there.
 func TestPackedAnything(t *testing.T) {
-	c := chance(4)
+	c := chance{4}
 	for range 10000 {
 		u := c.unit(40)
 		want := wantPacked(u)

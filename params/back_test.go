@@ -6,6 +6,7 @@ import (
 	"testing"
 
 	"zoetrope/api"
+	"zoetrope/dice"
 	"zoetrope/params"
 )
 
@@ -59,7 +60,7 @@ func TestEveryCycleBack(t *testing.T) {
 
 // P3.3: every BiPred, Qp and ChromaQp, every pair of Actives, and any of all.
 func TestEveryPpsBack(t *testing.T) {
-	c := chance(8)
+	c := chance{8}
 	for i := range 3 * 52 * 25 {
 		p := c.pps()
 		p.BiPred, p.Qp, p.ChromaQp = i%3, i/3%52, i/156-12
@@ -103,12 +104,12 @@ func TestEveryShortText(t *testing.T) {
 
 // P3.2, P3.3: any bytes, and bytes of parameters with a bit turned.
 func TestAnyBytes(t *testing.T) {
-	c := chance(9)
+	c := chance{9}
 	for range 20000 {
 		asksAny(t, c.text(12))
 		for _, x := range []string{trailed(spsRow(c.sps())), trailed(ppsRow(c.pps()))} {
 			turned := []byte(x)
-			turned[c.below(len(x))] ^= 1 << c.below(8)
+			turned[c.Below(len(x))] ^= 1 << c.Below(8)
 			asksAny(t, string(turned))
 		}
 	}
@@ -116,11 +117,11 @@ func TestAnyBytes(t *testing.T) {
 
 // P3.2: any numbers by their codes, with any bits behind them.
 func TestAnyNumbers(t *testing.T) {
-	c := chance(10)
+	c := chance{10}
 	for range 20000 {
-		row := ue(c.below(9), c.below(9), c.below(6), c.below(4))
-		for range c.below(9) {
-			row += ue(c.below(1 << c.below(12)))
+		row := ue(c.Below(9), c.Below(9), c.Below(6), c.Below(4))
+		for range c.Below(9) {
+			row += ue(c.Below(1 << c.Below(12)))
 		}
 		asksAny(t, trailed(row))
 	}
@@ -178,7 +179,7 @@ func TestCallsAtOneTime(t *testing.T) {
 	var good [8]bool
 	for k := range good {
 		all.Go(func() {
-			c := chance(k)
+			c := chance{dice.Dice(k)}
 			for range 500 {
 				if s, p := c.sps(), c.pps(); !spsBack(s) || !ppsBack(p) {
 					return

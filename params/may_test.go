@@ -215,15 +215,15 @@ func TestPpsFlags(t *testing.T) {
 
 // P3.1: any that may be, and what a number beyond its range makes of it.
 func TestAnyParams(t *testing.T) {
-	c := chance(3)
+	c := chance{3}
 	for range 5000 {
 		asksSps(t, c.sps(), true)
 		asksPps(t, c.pps(), true)
 		s, p := c.sps(), c.pps()
 		for _, x := range []*int{&s.Wide, &s.High, &s.FrameBits, &s.PocType, &s.PocBits, &s.NonRef, &s.Refs, &s.Delay,
 			&p.BiPred, &p.Qp, &p.ChromaQp, &p.Active0, &p.Active1} {
-			if c.below(12) == 0 {
-				*x = c.from(-1, 10) * c.from(1, 110)
+			if c.Below(12) == 0 {
+				*x = c.From(-1, 10) * c.From(1, 110)
 			}
 		}
 		asksSps(t, s, wantSps(s))

@@ -7,6 +7,7 @@ import (
 	"strings"
 
 	"zoetrope/api"
+	"zoetrope/dice"
 )
 
 // The model writes and reads bits as a text of '0' and '1', by the words of
@@ -207,48 +208,34 @@ func shown(s api.Sps) string {
 	return fmt.Sprintf("%+v", s)
 }
 
-// chance is a row of numbers, the same in each run.
-type chance uint64
-
-func (c *chance) below(n int) int {
-	*c = *c*6364136223846793005 + 1442695040888963407
-	return int(uint64(*c) >> 33 % uint64(n))
-}
-
-// from: a number from a to b.
-func (c *chance) from(a, b int) int {
-	return a + c.below(b-a+1)
-}
+// chance is a row of numbers, and what is made of them.
+type chance struct{ dice.Dice }
 
 // text: up to most bytes.
 func (c *chance) text(most int) string {
-	out := make([]byte, c.below(most+1))
-	for i := range out {
-		out[i] = byte(c.below(256))
-	}
-	return string(out)
+	return c.Text(c.Below(most + 1))
 }
 
 // sps: any that may be.
 func (c *chance) sps() api.Sps {
-	s := api.Sps{Wide: c.from(1, 8), High: c.from(1, 8), FrameBits: c.from(4, 8), PocType: c.below(3), PocBits: 4, Refs: c.from(1, 8)}
+	s := api.Sps{Wide: c.From(1, 8), High: c.From(1, 8), FrameBits: c.From(4, 8), PocType: c.Below(3), PocBits: 4, Refs: c.From(1, 8)}
 	switch s.PocType {
 	case 0:
-		s.PocBits = c.from(4, 8)
+		s.PocBits = c.From(4, 8)
 	case 1:
-		s.NonRef = c.from(-1000, 1000)
-		for range c.below(5) {
-			s.Cycle = append(s.Cycle, c.from(-1000, 1000))
+		s.NonRef = c.From(-1000, 1000)
+		for range c.Below(5) {
+			s.Cycle = append(s.Cycle, c.From(-1000, 1000))
 		}
 	}
 	if s.PocType != 2 {
-		s.Delay = c.from(0, s.Refs)
+		s.Delay = c.From(0, s.Refs)
 	}
 	return s
 }
 
 // pps: any that may be.
 func (c *chance) pps() api.Pps {
-	return api.Pps{Cabac: c.below(2) == 1, Weighted: c.below(2) == 1, BiPred: c.below(3), Qp: c.below(52), ChromaQp: c.from(-12, 12),
-		Constrained: c.below(2) == 1, Deblock: c.below(2) == 1, Active0: c.from(1, 8), Active1: c.from(1, 8)}
+	return api.Pps{Cabac: c.Below(2) == 1, Weighted: c.Below(2) == 1, BiPred: c.Below(3), Qp: c.Below(52), ChromaQp: c.From(-12, 12),
+		Constrained: c.Below(2) == 1, Deblock: c.Below(2) == 1, Active0: c.From(1, 8), Active1: c.From(1, 8)}
 }

@@ -103,7 +103,7 @@ func ppsCode(x string) api.Errno {
 
 // P3.2: bytes that are cut anywhere, and bytes with more behind them.
 func TestCutParams(t *testing.T) {
-	c := chance(5)
+	c := chance{5}
 	wantSps := func(x string) api.Errno {
 		_, code := readSps(x)
 		return code
