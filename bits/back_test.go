@@ -8,6 +8,7 @@ import (
 	"zoetrope/api"
 	"zoetrope/bits"
 	"zoetrope/dice"
+	"zoetrope/digits"
 )
 
 // item is a number and the code that it is written by.
@@ -47,9 +48,9 @@ func anyItem(c *chance) item {
 	x := (c.Below(1<<16)<<16 | c.Below(1<<16)) & (1<<n - 1)
 	switch kind := c.Below(4); kind {
 	case 1:
-		return item{kind, min(x, greatestUe), 0}
+		return item{kind, min(x, digits.GreatestUe), 0}
 	case 2:
-		return item{kind, (x % (greatestSe + 1)) * (1 - 2*c.Below(2)), 0}
+		return item{kind, (x % (digits.GreatestSe + 1)) * (1 - 2*c.Below(2)), 0}
 	case 3:
 		most := 1 + c.Below(1<<(1+c.Below(20)))
 		return item{kind, x % (most + 1), most}
@@ -61,9 +62,9 @@ func anyItem(c *chance) item {
 func edgeItems() []item {
 	return []item{
 		{0, 0, 0}, {0, 0, 1}, {0, 1, 1}, {0, 0, 32}, {0, 1<<32 - 1, 32},
-		{1, 0, 0}, {1, greatestUe, 0},
-		{2, 0, 0}, {2, greatestSe, 0}, {2, -greatestSe, 0},
-		{3, 0, 1}, {3, 1, 1}, {3, 0, 2}, {3, 2, 2}, {3, greatestUe, greatestUe},
+		{1, 0, 0}, {1, digits.GreatestUe, 0},
+		{2, 0, 0}, {2, digits.GreatestSe, 0}, {2, -digits.GreatestSe, 0},
+		{3, 0, 1}, {3, 1, 1}, {3, 0, 2}, {3, 2, 2}, {3, digits.GreatestUe, digits.GreatestUe},
 	}
 }
 
@@ -143,7 +144,7 @@ func TestReadThenWritten(t *testing.T) {
 				break
 			}
 		}
-		sameBits(t, "P1.3", w, spread(s)[:r.At()])
+		sameBits(t, "P1.3", w, digits.Spread(s)[:r.At()])
 	}
 }
 
@@ -181,7 +182,7 @@ func TestLaidBack(t *testing.T) {
 	w.Ue(3)
 	sameBits(t, "laid back", w, "101"+"00100")
 
-	r := bits.Open(packed(strings.Repeat("01", 20)))
+	r := bits.Open(digits.Packed(strings.Repeat("01", 20)))
 	r.Bits(3)
 	place := *r
 	r.Ue()

@@ -7,6 +7,7 @@ import (
 
 	"zoetrope/api"
 	"zoetrope/bits"
+	"zoetrope/digits"
 )
 
 // holds asks what a call of a Reader answered, and where it stands behind it.
@@ -20,12 +21,12 @@ func holds(t *testing.T, what string, r *bits.Reader, x int, code api.Errno, wan
 // P1.2: Bits reads from any place, with any n that is left, and no more.
 func TestReadWidths(t *testing.T) {
 	s := "\xa5\x0f\xff\x00\x81\x7e\xc3"
-	row := spread(s)
+	row := digits.Spread(s)
 	for at := range len(row) + 1 {
 		for n := range 33 {
 			r := ahead(s, at)
 			x, code := r.Bits(n)
-			want, size, wantCode := readPlain(row[at:], n)
+			want, size, wantCode := first(row[at:], func(l *digits.Left) int { return l.Plain(n) })
 			holds(t, "P1.2: Bits", r, x, code, want, wantCode, at+size)
 		}
 	}
@@ -70,7 +71,7 @@ var codeRows = []struct {
 	{strings.Repeat("0", 31) + strings.Repeat("1", 40), 0, 0, api.ErrBitsForm},
 	{strings.Repeat("0", 30) + "1", 0, 0, api.ErrBitsEnd},
 	{strings.Repeat("0", 30) + strings.Repeat("1", 30), 0, 0, api.ErrBitsEnd},
-	{strings.Repeat("0", 30) + strings.Repeat("1", 31), greatestUe, 61, api.OK},
+	{strings.Repeat("0", 30) + strings.Repeat("1", 31), digits.GreatestUe, 61, api.OK},
 	{strings.Repeat("0", 30) + "1" + strings.Repeat("0", 30), 1<<30 - 1, 61, api.OK},
 	{strings.Repeat("0", 29) + strings.Repeat("1", 30), 1<<30 - 2, 59, api.OK},
 	{strings.Repeat("0", 29) + strings.Repeat("1", 29), 0, 0, api.ErrBitsEnd},
@@ -88,8 +89,8 @@ func turned(x int) int {
 func TestReadCodes(t *testing.T) {
 	for i, c := range codeRows {
 		at := 8 - len(c.row)%8
-		s := packed(strings.Repeat("1", at) + c.row)
-		what := "P1.2: row " + plain(i, 6)
+		s := digits.Packed(strings.Repeat("1", at) + c.row)
+		what := "P1.2: row " + digits.Plain(i, 6)
 		r := ahead(s, at)
 		x, code := r.Ue()
 		holds(t, what+" Ue", r, x, code, c.x, c.code, at+c.size)
@@ -104,10 +105,10 @@ func TestReadCodes(t *testing.T) {
 
 // P1.2: greatest and least numbers of Se.
 func TestReadGreatestSe(t *testing.T) {
-	for _, want := range []int{greatestSe, -greatestSe, greatestSe - 1, 1 - greatestSe, 0, 1, -1} {
-		r := bits.Open(packed(se(want)))
+	for _, want := range []int{digits.GreatestSe, -digits.GreatestSe, digits.GreatestSe - 1, 1 - digits.GreatestSe, 0, 1, -1} {
+		r := bits.Open(digits.Packed(digits.Se(want)))
 		x, code := r.Se()
-		holds(t, "P1.2: Se", r, x, code, want, api.OK, len(se(want)))
+		holds(t, "P1.2: Se", r, x, code, want, api.OK, len(digits.Se(want)))
 	}
 }
 
@@ -136,13 +137,13 @@ func TestReadTe(t *testing.T) {
 		{"\x28", 3, 0, api.ErrBitsForm, 0},
 		{"\x00\x00\x00\x00", 5, 0, api.ErrBitsForm, 0},
 		{"\x00\x00\x00", 5, 0, api.ErrBitsEnd, 0},
-		{"\x00\x00\x00\x03\xff\xff\xff\xf8", greatestUe, greatestUe, api.OK, 61},
-		{"\x00\x00\x00\x03\xff\xff\xff\xf8", greatestUe - 1, 0, api.ErrBitsForm, 0},
-		{"\x00\x00\x00\x03\xff\xff\xff\xf8", math.MaxInt, greatestUe, api.OK, 61},
+		{"\x00\x00\x00\x03\xff\xff\xff\xf8", digits.GreatestUe, digits.GreatestUe, api.OK, 61},
+		{"\x00\x00\x00\x03\xff\xff\xff\xf8", digits.GreatestUe - 1, 0, api.ErrBitsForm, 0},
+		{"\x00\x00\x00\x03\xff\xff\xff\xf8", math.MaxInt, digits.GreatestUe, api.OK, 61},
 	} {
 		r := bits.Open(c.s)
 		x, code := r.Te(c.most)
-		holds(t, "P1.2: row "+plain(i, 5), r, x, code, c.x, c.code, c.at)
+		holds(t, "P1.2: row "+digits.Plain(i, 5), r, x, code, c.x, c.code, c.at)
 	}
 }
 
@@ -162,7 +163,7 @@ func wantTrail(row string) api.Errno {
 // asksEnd holds More and Trail from a place of s against the model.
 func asksEnd(t *testing.T, s string, at int) {
 	t.Helper()
-	row := spread(s)[at:]
+	row := digits.Spread(s)[at:]
 	r := ahead(s, at)
 	if r.More() != wantMore(row) || r.At() != at {
 		t.Errorf("P1.2: More of %q from %d: %v", s, at, r.More())
@@ -198,7 +199,7 @@ func TestReadAnything(t *testing.T) {
 	c := chance{3}
 	for range 20000 {
 		s := c.text(12)
-		row, r, at := spread(s), bits.Open(s), 0
+		row, r, at := digits.Spread(s), bits.Open(s), 0
 		for range 6 {
 			x, size, code := 0, 0, api.OK
 			got, gotCode := 0, api.OK
@@ -206,17 +207,16 @@ func TestReadAnything(t *testing.T) {
 			case 0:
 				n := c.Below(33)
 				got, gotCode = r.Bits(n)
-				x, size, code = readPlain(row[at:], n)
+				x, size, code = first(row[at:], func(l *digits.Left) int { return l.Plain(n) })
 			case 1:
-				x, size, code = readUe(row[at:], greatestUe)
+				x, size, code = first(row[at:], (*digits.Left).Ue)
 				got, gotCode = r.Ue()
 			case 2:
-				x, size, code = readUe(row[at:], greatestUe)
-				x = turned(x)
+				x, size, code = first(row[at:], (*digits.Left).Se)
 				got, gotCode = r.Se()
 			default:
-				most := 2 + c.Below(300)
-				x, size, code = readUe(row[at:], most)
+				most := 1 + c.Below(300)
+				x, size, code = first(row[at:], func(l *digits.Left) int { return l.Te(most) })
 				got, gotCode = r.Te(most)
 			}
 			at += size

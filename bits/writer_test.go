@@ -7,13 +7,14 @@ import (
 
 	"zoetrope/api"
 	"zoetrope/bits"
+	"zoetrope/digits"
 )
 
 // sameBits holds a Writer against a text of bits.
 func sameBits(t *testing.T, what string, w *bits.Writer, row string) {
 	t.Helper()
-	if w.Len() != len(row) || w.Bytes() != packed(row) {
-		t.Errorf("%s: %d bits %q, want %d bits %q", what, w.Len(), w.Bytes(), len(row), packed(row))
+	if w.Len() != len(row) || w.Bytes() != digits.Packed(row) {
+		t.Errorf("%s: %d bits %q, want %d bits %q", what, w.Len(), w.Bytes(), len(row), digits.Packed(row))
 	}
 }
 
@@ -66,7 +67,7 @@ func TestWrittenWidths(t *testing.T) {
 					t.Errorf("P1.1: %d of %d bits", x, n)
 				}
 				w.Bits(1, 1)
-				sameBits(t, "P1.1: Bits", w, strings.Repeat("0", held)+plain(x, n)+"1")
+				sameBits(t, "P1.1: Bits", w, strings.Repeat("0", held)+digits.Plain(x, n)+"1")
 			}
 		}
 	}
@@ -78,13 +79,13 @@ func TestWrittenGreatest(t *testing.T) {
 		w := bits.New()
 		w.Bits(1<<held-1, held)
 		row := strings.Repeat("1", held)
-		for i, code := range []api.Errno{w.Ue(0), w.Ue(greatestUe), w.Ue(greatestUe - 1), w.Se(greatestSe), w.Se(-greatestSe),
-			w.Te(greatestUe, greatestUe), w.Te(greatestUe, math.MaxInt), w.Te(0, greatestUe)} {
+		for i, code := range []api.Errno{w.Ue(0), w.Ue(digits.GreatestUe), w.Ue(digits.GreatestUe - 1), w.Se(digits.GreatestSe), w.Se(-digits.GreatestSe),
+			w.Te(digits.GreatestUe, digits.GreatestUe), w.Te(digits.GreatestUe, math.MaxInt), w.Te(0, digits.GreatestUe)} {
 			if code != api.OK {
 				t.Errorf("P1.1: row %d: %d", i, code)
 			}
 		}
-		row += ue(0) + ue(greatestUe) + ue(greatestUe-1) + se(greatestSe) + se(-greatestSe) + ue(greatestUe) + ue(greatestUe) + ue(0)
+		row += digits.Ue(0) + digits.Ue(digits.GreatestUe) + digits.Ue(digits.GreatestUe-1) + digits.Se(digits.GreatestSe) + digits.Se(-digits.GreatestSe) + digits.Ue(digits.GreatestUe) + digits.Ue(digits.GreatestUe) + digits.Ue(0)
 		sameBits(t, "P1.1", w, row)
 	}
 }
@@ -105,10 +106,10 @@ func wrongWrites(w *bits.Writer) map[string]api.Errno {
 		"Bits least in 32":  w.Bits(math.MinInt, 32),
 		"Ue -1":             w.Ue(-1),
 		"Ue least":          w.Ue(math.MinInt),
-		"Ue 2^31-1":         w.Ue(greatestUe + 1),
+		"Ue 2^31-1":         w.Ue(digits.GreatestUe + 1),
 		"Ue greatest":       w.Ue(math.MaxInt),
-		"Se 2^30":           w.Se(greatestSe + 1),
-		"Se -2^30":          w.Se(-greatestSe - 1),
+		"Se 2^30":           w.Se(digits.GreatestSe + 1),
+		"Se -2^30":          w.Se(-digits.GreatestSe - 1),
 		"Se least":          w.Se(math.MinInt),
 		"Se greatest":       w.Se(math.MaxInt),
 		"Te most 0":         w.Te(0, 0),
@@ -118,7 +119,7 @@ func wrongWrites(w *bits.Writer) map[string]api.Errno {
 		"Te 2 of 1":         w.Te(2, 1),
 		"Te -1 of 5":        w.Te(-1, 5),
 		"Te 6 of 5":         w.Te(6, 5),
-		"Te above Ue's":     w.Te(greatestUe+1, math.MaxInt),
+		"Te above Ue's":     w.Te(digits.GreatestUe+1, math.MaxInt),
 		"Te greatest of it": w.Te(math.MaxInt, math.MaxInt),
 	}
 }
@@ -137,7 +138,7 @@ func TestWrongWritesLeaveNothing(t *testing.T) {
 		}
 		sameBits(t, "P1.1: beside an error", w, row)
 		w.Ue(4)
-		sameBits(t, "P1.1: behind an error", w, row+ue(4))
+		sameBits(t, "P1.1: behind an error", w, row+digits.Ue(4))
 	}
 }
 
@@ -160,7 +161,7 @@ func TestBytesChangesNothing(t *testing.T) {
 	w, row := bits.New(), ""
 	for i := range 40 {
 		w.Bits(i%2, 1)
-		row += plain(i%2, 1)
+		row += digits.Plain(i%2, 1)
 		first := w.Bytes()
 		sameBits(t, "P1.1: Bytes", w, row)
 		if w.Bytes() != first {
@@ -221,16 +222,16 @@ func TestLongRow(t *testing.T) {
 		case 0:
 			n := 30 + c.Below(3)
 			w.Bits(x, n)
-			row.WriteString(plain(x, n))
+			row.WriteString(digits.Plain(x, n))
 		case 1:
 			w.Ue(x)
-			row.WriteString(ue(x))
+			row.WriteString(digits.Ue(x))
 		case 2:
 			w.Se(x - 1<<29)
-			row.WriteString(se(x - 1<<29))
+			row.WriteString(digits.Se(x - 1<<29))
 		default:
 			w.Te(x%2, 1)
-			row.WriteString(te(x%2, 1))
+			row.WriteString(digits.Te(x%2, 1))
 		}
 	}
 	sameBits(t, "P1.1", w, row.String())

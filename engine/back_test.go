@@ -7,6 +7,7 @@ import (
 
 	"zoetrope/api"
 	"zoetrope/dice"
+	"zoetrope/digits"
 	"zoetrope/engine"
 )
 
@@ -32,7 +33,7 @@ func back(all []bin, states []int, behind string) bool {
 		}
 	}
 	b, code := d.Terminate()
-	last := spread(e.Bytes())[d.At()-1]
+	last := digits.Spread(e.Bytes())[d.At()-1]
 	return b == 1 && code == api.OK && (d.At()+7)/8 == len(e.Bytes()) && last == '1' && slices.Equal(d.States(), e.States())
 }
 

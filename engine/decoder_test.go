@@ -6,6 +6,7 @@ import (
 	"testing"
 
 	"zoetrope/api"
+	"zoetrope/digits"
 	"zoetrope/engine"
 )
 
@@ -44,7 +45,7 @@ func asks(t *testing.T, what string, d *engine.Decoder, m *decoder, x bin) api.E
 func opened(t *testing.T, s string, states []int) (*engine.Decoder, *decoder) {
 	t.Helper()
 	d, code := engine.NewDecoder(s, states)
-	m, want := newDecoder(spread(s), states)
+	m, want := newDecoder(digits.Spread(s), states)
 	if code != want || (d == nil) != (m == nil) {
 		t.Fatalf("P5.3: %x: %d, want %d", s, code, want)
 	}

@@ -7,6 +7,7 @@ import (
 	"testing"
 
 	"zoetrope/api"
+	"zoetrope/digits"
 	"zoetrope/engine"
 )
 
@@ -24,8 +25,8 @@ func (x bin) put(e *engine.Encoder) api.Errno {
 // sameEncoder holds an Encoder against the model.
 func sameEncoder(t *testing.T, what string, e *engine.Encoder, m *encoder) {
 	t.Helper()
-	if e.Bytes() != packed(string(m.bits)) || !slices.Equal(e.States(), m.states) {
-		t.Fatalf("%s: %s, %v, want %s, %v", what, spread(e.Bytes()), e.States(), m.bits, m.states)
+	if e.Bytes() != digits.Packed(string(m.bits)) || !slices.Equal(e.States(), m.states) {
+		t.Fatalf("%s: %s, %v, want %s, %v", what, digits.Spread(e.Bytes()), e.States(), m.bits, m.states)
 	}
 }
 
@@ -85,8 +86,8 @@ func TestWrittenByHand(t *testing.T) {
 		for _, x := range c.all {
 			x.put(e)
 		}
-		if code := e.Terminate(1); code != api.OK || e.Bytes() != packed(c.bits) {
-			t.Errorf("P5.2: %s: %d, %s, want %s", c.what, code, spread(e.Bytes()), c.bits)
+		if code := e.Terminate(1); code != api.OK || e.Bytes() != digits.Packed(c.bits) {
+			t.Errorf("P5.2: %s: %d, %s, want %s", c.what, code, digits.Spread(e.Bytes()), c.bits)
 		}
 	}
 }
@@ -156,8 +157,8 @@ func TestAnyBins(t *testing.T) {
 		end.put(e)
 		m.call(end)
 		sameEncoder(t, "P5.2: the end", e, m)
-		if e.Bytes() != packed(whole(all, states)) {
-			t.Fatalf("P5.2: %s, want %s", spread(e.Bytes()), whole(all, states))
+		if e.Bytes() != digits.Packed(whole(all, states)) {
+			t.Fatalf("P5.2: %s, want %s", digits.Spread(e.Bytes()), whole(all, states))
 		}
 	}
 }
@@ -275,7 +276,7 @@ func TestBitsThatWait(t *testing.T) {
 				m.call(x)
 				sameEncoder(t, "P5.2: behind", e, m)
 			}
-			if want := packed(whole(append(all, rest[:len(rest)-1]...), []int{5})); e.Bytes() != want {
+			if want := digits.Packed(whole(append(all, rest[:len(rest)-1]...), []int{5})); e.Bytes() != want {
 				t.Fatalf("P5.2: behind %d bits that waited", many)
 			}
 		}

@@ -275,24 +275,3 @@ func (d *decoder) call(x bin) (int, api.Errno) {
 	}
 	return b, api.OK
 }
-
-// packed: bytes of a text of bits, the highest first, with noughts behind.
-func packed(text string) string {
-	out := make([]byte, (len(text)+7)/8)
-	for i := range len(text) {
-		if text[i] == '1' {
-			out[i/8] |= 0x80 >> (i % 8)
-		}
-	}
-	return string(out)
-}
-
-// spread: the text of bits of s.
-func spread(s string) string {
-	var b strings.Builder
-	for i := range len(s) {
-		digits := strconv.FormatInt(int64(s[i]), 2)
-		b.WriteString(strings.Repeat("0", 8-len(digits)) + digits)
-	}
-	return b.String()
-}

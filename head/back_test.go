@@ -8,6 +8,7 @@ import (
 	"zoetrope/api"
 	"zoetrope/bits"
 	"zoetrope/dice"
+	"zoetrope/digits"
 	"zoetrope/head"
 )
 
@@ -82,13 +83,13 @@ func TestEveryNumberBack(t *testing.T) {
 func asksAny(t *testing.T, row string, u unit) {
 	t.Helper()
 	asksModel(t, row, u)
-	h, used, code := readHead(spread(packed(row)), u)
+	h, used, code := readHead(digits.Spread(digits.Packed(row)), u)
 	if code != api.OK {
 		return
 	}
 	w := bits.New()
-	if again := head.Put(w, h, u.s, u.p, u.ref, u.key); again != api.OK || w.Len() != used || w.Bytes() != packed(spread(packed(row))[:used]) {
-		t.Fatalf("P4.3: %d, %s of what was read of %s", again, spread(w.Bytes()), row)
+	if again := head.Put(w, h, u.s, u.p, u.ref, u.key); again != api.OK || w.Len() != used || w.Bytes() != digits.Packed(digits.Spread(digits.Packed(row))[:used]) {
+		t.Fatalf("P4.3: %d, %s of what was read of %s", again, digits.Spread(w.Bytes()), row)
 	}
 }
 
@@ -102,7 +103,7 @@ func TestEveryShortText(t *testing.T) {
 		units[i].ref, units[i].key = i&1, i&2 > 0
 	}
 	for x := range 1 << 16 {
-		asksAny(t, plain(x, 16), units[x%16])
+		asksAny(t, digits.Plain(x, 16), units[x%16])
 	}
 }
 
@@ -111,7 +112,7 @@ func TestAnyBits(t *testing.T) {
 	c := chance{9}
 	for range 10000 {
 		u := c.unit()
-		asksAny(t, spread(c.text(20)), u)
+		asksAny(t, digits.Spread(c.text(20)), u)
 		row := []byte(joined(pieces(c.head(u), u)))
 		asksAny(t, string(row), c.unit())
 		k := c.Below(len(row))
@@ -128,9 +129,9 @@ func TestAnyNumbers(t *testing.T) {
 		u := c.unit()
 		h := c.head(u)
 		c.spoil(&h)
-		row := ue(c.Below(9), c.Below(9), c.Below(4))
+		row := digits.Ue(c.Below(9), c.Below(9), c.Below(4))
 		for range c.Below(40) {
-			row += ue(c.Below(1 << c.Below(10)))
+			row += digits.Ue(c.Below(1 << c.Below(10)))
 		}
 		asksAny(t, row, u)
 	}
@@ -173,8 +174,8 @@ func TestWrittenStays(t *testing.T) {
 		w := bits.New()
 		head.Put(w, b.h, b.u.s, b.u.p, b.u.ref, b.u.key)
 		overwrite(&b.h)
-		if w.Bytes() != packed(row) {
-			t.Errorf("R4: %s", spread(w.Bytes()))
+		if w.Bytes() != digits.Packed(row) {
+			t.Errorf("R4: %s", digits.Spread(w.Bytes()))
 		}
 	}
 }
@@ -203,7 +204,7 @@ func TestAnswersAreNewMemory(t *testing.T) {
 	for range 500 {
 		u := c.unit()
 		h := c.head(u)
-		s := packed(joined(pieces(h, u)))
+		s := digits.Packed(joined(pieces(h, u)))
 		read := func() api.Head {
 			got, _ := head.Get(bits.Open(s), u.s, u.p, u.ref, u.key)
 			return got
@@ -232,7 +233,7 @@ func TestAnswersAreNewMemory(t *testing.T) {
 func TestErrorsLeaveNothingBehind(t *testing.T) {
 	b := ofB()
 	row := joined(pieces(b.h, b.u))
-	r := bits.Open(packed("110" + row))
+	r := bits.Open(digits.Packed("110" + row))
 	r.Bits(3)
 	bad := b.u
 	bad.s.FrameBits, bad.p.Weighted = 8, false
@@ -252,8 +253,8 @@ func TestErrorsLeaveNothingBehind(t *testing.T) {
 		t.Errorf("R5: %d, %d bits", code, w.Len())
 	}
 	head.Put(w, b.h, b.u.s, b.u.p, b.u.ref, b.u.key)
-	if w.Bytes() != packed("110"+row) {
-		t.Errorf("R5: %s", spread(w.Bytes()))
+	if w.Bytes() != digits.Packed("110"+row) {
+		t.Errorf("R5: %s", digits.Spread(w.Bytes()))
 	}
 }
 

@@ -6,6 +6,7 @@ import (
 
 	"zoetrope/api"
 	"zoetrope/bits"
+	"zoetrope/digits"
 	"zoetrope/head"
 )
 
@@ -22,7 +23,7 @@ func asksGet(t *testing.T, s string, at int, u unit, want api.Head, used int, co
 	for range 2 {
 		h, got := head.Get(r, u.s, u.p, u.ref, u.key)
 		if shown(h) != shown(want) || got != code || r.At() != at+used {
-			t.Fatalf("P4.2: Get of %.300s of %+v:\n%s, %d, at %d, want\n%s, %d, at %d", spread(s)[at:], u, shown(h), got, r.At(), shown(want), code, at+used)
+			t.Fatalf("P4.2: Get of %.300s of %+v:\n%s, %d, at %d, want\n%s, %d, at %d", digits.Spread(s)[at:], u, shown(h), got, r.At(), shown(want), code, at+used)
 		}
 		if code == api.OK {
 			return
@@ -33,8 +34,8 @@ func asksGet(t *testing.T, s string, at int, u unit, want api.Head, used int, co
 // asksModel holds Get of a row of bits against the model.
 func asksModel(t *testing.T, row string, u unit) {
 	t.Helper()
-	s := packed(row)
-	want, used, code := readHead(spread(s), u)
+	s := digits.Packed(row)
+	want, used, code := readHead(digits.Spread(s), u)
 	asksGet(t, s, 0, u, want, used, code)
 }
 
@@ -81,12 +82,12 @@ func TestWrittenHeads(t *testing.T) {
 	for _, c := range rows() {
 		row := strings.ReplaceAll(c.row, " ", "")
 		w := bits.New()
-		if code := head.Put(w, c.b.h, c.b.u.s, c.b.u.p, c.b.u.ref, c.b.u.key); code != api.OK || w.Len() != len(row) || w.Bytes() != packed(row) {
-			t.Errorf("P4.2: Put of %s: %d, %s, want %s", shown(c.b.h), code, spread(w.Bytes()), row)
+		if code := head.Put(w, c.b.h, c.b.u.s, c.b.u.p, c.b.u.ref, c.b.u.key); code != api.OK || w.Len() != len(row) || w.Bytes() != digits.Packed(row) {
+			t.Errorf("P4.2: Put of %s: %d, %s, want %s", shown(c.b.h), code, digits.Spread(w.Bytes()), row)
 		}
 		for at := range 17 {
-			for _, behind := range []string{"", "1", "0", tooLong} {
-				s := packed(strings.Repeat("1", at) + row + behind)
+			for _, behind := range []string{"", "1", "0", digits.TooLong} {
+				s := digits.Packed(strings.Repeat("1", at) + row + behind)
 				asksGet(t, s, at, c.b.u, c.b.h, len(row), api.OK)
 			}
 		}
@@ -103,7 +104,7 @@ func TestCutHeads(t *testing.T) {
 			asksModel(t, row[:k], b.u)
 			asksModel(t, row[:k]+"1", b.u)
 		}
-		whole := packed(row)
+		whole := digits.Packed(row)
 		for k := range len(row) / 8 {
 			asksGet(t, whole[:k], 0, b.u, api.Head{}, 0, api.ErrHeadForm)
 		}
@@ -128,21 +129,21 @@ func TestNumbersOfNoForm(t *testing.T) {
 			if p.way == "bits" {
 				continue
 			}
-			for _, rest := range []string{"", behind, behind + tooLong, strings.Repeat("0", 99), strings.Repeat("1", 99)} {
+			for _, rest := range []string{"", behind, behind + digits.TooLong, strings.Repeat("0", 99), strings.Repeat("1", 99)} {
 				for noughts := 31; noughts < 34; noughts++ {
-					s := packed(ahead + strings.Repeat("0", noughts) + strings.Repeat("1", noughts+1) + rest)
+					s := digits.Packed(ahead + strings.Repeat("0", noughts) + strings.Repeat("1", noughts+1) + rest)
 					asksGet(t, s, 0, b.u, api.Head{}, 0, api.ErrHeadForm)
 				}
 			}
 			// So that it ends with a byte, ones stand ahead that are read already.
 			lead := (8 - len(ahead)%8) % 8
-			asksGet(t, packed(strings.Repeat("1", lead)+ahead), lead, b.u, api.Head{}, 0, api.ErrHeadForm)
+			asksGet(t, digits.Packed(strings.Repeat("1", lead)+ahead), lead, b.u, api.Head{}, 0, api.ErrHeadForm)
 		}
 	}
 }
 
 // behinds: what may stand behind a number that is told at once.
-var behinds = []string{"", "1", strings.Repeat("1", 70), strings.Repeat("10", 300), tooLong, strings.Repeat("0", 900)}
+var behinds = []string{"", "1", strings.Repeat("1", 70), strings.Repeat("10", 300), digits.TooLong, strings.Repeat("0", 900)}
 
 // P4.2, R6: a Type, an Active, a count, an Op's Kind beyond its limit is told
 // at once, whatever is behind it; a fault of form ahead of it is told first.
@@ -152,38 +153,38 @@ func TestToldAtOnce(t *testing.T) {
 	key.key = true
 	plainP := u
 	plainP.p.Weighted = false
-	start := func(kind int) string { return ue(0, 0, kind) + plain(3, 5) + plain(9, 6) }
-	for _, x := range []int{1, 2, 3, 50, 1 << 20, greatestUe - 17} {
+	start := func(kind int) string { return digits.Ue(0, 0, kind) + digits.Plain(3, 5) + digits.Plain(9, 6) }
+	for _, x := range []int{1, 2, 3, 50, 1 << 20, digits.GreatestUe - 17} {
 		for i, c := range []struct {
 			u     unit
 			ahead string
 			most  int
 		}{
-			{u, ue(0, 0), 2},
-			{key, ue(0, 0), 2},
-			{u, ue(700, 900), 2},
+			{u, digits.Ue(0, 0), 2},
+			{key, digits.Ue(0, 0), 2},
+			{u, digits.Ue(700, 900), 2},
 			{u, start(0), 7},
 			{plainP, start(0), 7},
-			{u, start(0) + ue(0), 16},
-			{u, start(0) + ue(7), 16},
-			{plainP, start(0) + ue(2, 0), 16},
-			{plainP, start(0) + ue(2, 2, 3, 99999, 7, 0), 16},
-			{u, start(1) + "0" + ue(0), 7},
-			{u, start(1) + "1" + ue(7), 7},
-			{u, start(1) + "1" + ue(0, 0), 16},
-			{u, start(1) + "1" + ue(0, 0, 1, 2, 9), 16},
+			{u, start(0) + digits.Ue(0), 16},
+			{u, start(0) + digits.Ue(7), 16},
+			{plainP, start(0) + digits.Ue(2, 0), 16},
+			{plainP, start(0) + digits.Ue(2, 2, 3, 99999, 7, 0), 16},
+			{u, start(1) + "0" + digits.Ue(0), 7},
+			{u, start(1) + "1" + digits.Ue(7), 7},
+			{u, start(1) + "1" + digits.Ue(0, 0), 16},
+			{u, start(1) + "1" + digits.Ue(0, 0, 1, 2, 9), 16},
 			{u, start(2), 16},
-			{u, start(2) + ue(1), 6},
-			{u, start(2) + ue(2, 5), 6},
-			{u, start(2) + ue(16, 3, 1000, 1000, 1, 7), 6},
-			{plainP, start(0) + ue(2, 0, 1), 6},
+			{u, start(2) + digits.Ue(1), 6},
+			{u, start(2) + digits.Ue(2, 5), 6},
+			{u, start(2) + digits.Ue(16, 3, 1000, 1000, 1, 7), 6},
+			{plainP, start(0) + digits.Ue(2, 0, 1), 6},
 		} {
 			for _, behind := range behinds {
-				row := c.ahead + ue(c.most+x)
-				if c.most+x > greatestUe {
+				row := c.ahead + digits.Ue(c.most+x)
+				if c.most+x > digits.GreatestUe {
 					continue
 				}
-				asksGet(t, packed(row+behind), 0, c.u, api.Head{}, 0, api.ErrHeadRange)
+				asksGet(t, digits.Packed(row+behind), 0, c.u, api.Head{}, 0, api.ErrHeadRange)
 				if t.Failed() {
 					t.Fatalf("row %d", i)
 				}
@@ -195,10 +196,10 @@ func TestToldAtOnce(t *testing.T) {
 // P4.2: an Op's Kind 0 is told at once too.
 func TestOpOfKindNone(t *testing.T) {
 	u := parameters()
-	start := ue(0, 0, 2) + plain(3, 5) + plain(9, 6)
-	for _, ops := range []string{ue(1, 0), ue(16, 0), ue(2, 5, 0), ue(3, 1, 999, 3, 8, 9, 0)} {
+	start := digits.Ue(0, 0, 2) + digits.Plain(3, 5) + digits.Plain(9, 6)
+	for _, ops := range []string{digits.Ue(1, 0), digits.Ue(16, 0), digits.Ue(2, 5, 0), digits.Ue(3, 1, 999, 3, 8, 9, 0)} {
 		for _, behind := range behinds {
-			asksGet(t, packed(start+ops+behind), 0, u, api.Head{}, 0, api.ErrHeadRange)
+			asksGet(t, digits.Packed(start+ops+behind), 0, u, api.Head{}, 0, api.ErrHeadRange)
 		}
 	}
 }
@@ -206,18 +207,18 @@ func TestOpOfKindNone(t *testing.T) {
 // P4.2: a pair of Actives is looked at behind both.
 func TestPairOfActives(t *testing.T) {
 	u := parameters()
-	start := ue(0, 0, 1) + plain(3, 5) + plain(9, 6) + "0"
-	for _, first := range []int{8, 9, 300, greatestUe} {
-		for _, second := range []int{0, 7, 8, greatestUe} {
-			asksGet(t, packed(start+ue(first)+tooLong), 0, u, api.Head{}, 0, api.ErrHeadForm)
+	start := digits.Ue(0, 0, 1) + digits.Plain(3, 5) + digits.Plain(9, 6) + "0"
+	for _, first := range []int{8, 9, 300, digits.GreatestUe} {
+		for _, second := range []int{0, 7, 8, digits.GreatestUe} {
+			asksGet(t, digits.Packed(start+digits.Ue(first)+digits.TooLong), 0, u, api.Head{}, 0, api.ErrHeadForm)
 			for _, behind := range behinds {
-				asksGet(t, packed(start+ue(first, second)+behind), 0, u, api.Head{}, 0, api.ErrHeadRange)
-				asksGet(t, packed(start+ue(second, first)+behind), 0, u, api.Head{}, 0, api.ErrHeadRange)
+				asksGet(t, digits.Packed(start+digits.Ue(first, second)+behind), 0, u, api.Head{}, 0, api.ErrHeadRange)
+				asksGet(t, digits.Packed(start+digits.Ue(second, first)+behind), 0, u, api.Head{}, 0, api.ErrHeadRange)
 			}
 		}
-		row := start + ue(first)
+		row := start + digits.Ue(first)
 		lead := (8 - len(row)%8) % 8
-		asksGet(t, packed(strings.Repeat("1", lead)+row), lead, u, api.Head{}, 0, api.ErrHeadForm)
+		asksGet(t, digits.Packed(strings.Repeat("1", lead)+row), lead, u, api.Head{}, 0, api.ErrHeadForm)
 	}
 }
 
@@ -229,30 +230,30 @@ func TestToldAtTheEnd(t *testing.T) {
 		change func(b *base)
 	}{
 		{ofKey, func(b *base) { b.h.First = 12 }},
-		{ofKey, func(b *base) { b.h.First = greatestUe }},
+		{ofKey, func(b *base) { b.h.First = digits.GreatestUe }},
 		{ofKey, func(b *base) { b.h.Count = 11 }},
-		{ofKey, func(b *base) { b.h.Count = greatestUe + 1 }},
+		{ofKey, func(b *base) { b.h.Count = digits.GreatestUe + 1 }},
 		{ofKey, func(b *base) { b.h.FrameNum = 1 }},
 		{ofKey, func(b *base) { b.h.Id = 256 }},
 		{ofKey, func(b *base) { b.h.Qp = 52 }},
-		{ofKey, func(b *base) { b.h.Qp = greatestUe }},
+		{ofKey, func(b *base) { b.h.Qp = digits.GreatestUe }},
 		{ofKey, func(b *base) { b.h.A = 7 }},
 		{ofKey, func(b *base) { b.h.B = -7 }},
-		{ofKey, func(b *base) { b.h.B = -greatestUe / 2 }},
+		{ofKey, func(b *base) { b.h.B = -digits.GreatestUe / 2 }},
 		{ofI, func(b *base) { b.h.Count = 13 }},
 		{ofI, func(b *base) { b.h.Ops[0].A = 256 }},
-		{ofI, func(b *base) { b.h.Ops[2].A = greatestUe }},
+		{ofI, func(b *base) { b.h.Ops[2].A = digits.GreatestUe }},
 		{ofI, func(b *base) { b.h.Ops[2].B = 256 }},
 		{ofI, func(b *base) { b.h.Ops[5].A = 256 }},
 		{ofP, func(b *base) { b.u.key, b.h.Ops = true, nil }},
 		{ofP, func(b *base) { b.h.Mods0[0].Kind = 3 }},
 		{ofP, func(b *base) { b.h.Mods0[1].V = 256 }},
 		{ofP, func(b *base) { b.h.Log = 8 }},
-		{ofP, func(b *base) { b.h.LogC = greatestUe }},
+		{ofP, func(b *base) { b.h.LogC = digits.GreatestUe }},
 		{ofP, func(b *base) { b.h.Weights0[0].Scale[0] = 128 }},
 		{ofP, func(b *base) { b.h.Weights0[1].Offset[2] = -129 }},
 		{ofB, func(b *base) { b.u.key = true }},
-		{ofB, func(b *base) { b.h.Mods1[2].Kind = greatestUe }},
+		{ofB, func(b *base) { b.h.Mods1[2].Kind = digits.GreatestUe }},
 		{ofB, func(b *base) { b.h.Mods1[0].V = 256 }},
 		{ofB, func(b *base) { b.h.Weights1[1].Scale[1] = -129 }},
 		{ofB, func(b *base) { b.h.Weights1[0].Offset[1] = 128 }},
@@ -262,7 +263,7 @@ func TestToldAtTheEnd(t *testing.T) {
 		row := pieces(b.h, b.u)
 		whole := joined(row)
 		for _, behind := range behinds {
-			asksGet(t, packed(whole+behind), 0, b.u, api.Head{}, 0, api.ErrHeadRange)
+			asksGet(t, digits.Packed(whole+behind), 0, b.u, api.Head{}, 0, api.ErrHeadRange)
 		}
 		last := row[len(row)-1]
 		if last.way == "bits" {
@@ -270,8 +271,8 @@ func TestToldAtTheEnd(t *testing.T) {
 		}
 		ahead := joined(row[:len(row)-1])
 		lead := (8 - len(ahead)%8) % 8
-		asksGet(t, packed(ahead+tooLong), 0, b.u, api.Head{}, 0, api.ErrHeadForm)
-		asksGet(t, packed(strings.Repeat("1", lead)+ahead), lead, b.u, api.Head{}, 0, api.ErrHeadForm)
+		asksGet(t, digits.Packed(ahead+digits.TooLong), 0, b.u, api.Head{}, 0, api.ErrHeadForm)
+		asksGet(t, digits.Packed(strings.Repeat("1", lead)+ahead), lead, b.u, api.Head{}, 0, api.ErrHeadForm)
 	}
 }
 
@@ -283,7 +284,7 @@ func TestReadAtLimits(t *testing.T) {
 		b.h.Ops[i] = api.Op{Kind: api.OpToLong, A: 255, B: 255}
 	}
 	asksModel(t, joined(pieces(b.h, b.u)), b.u)
-	asksGet(t, packed(joined(pieces(b.h, b.u))), 0, b.u, b.h, len(joined(pieces(b.h, b.u))), api.OK)
+	asksGet(t, digits.Packed(joined(pieces(b.h, b.u))), 0, b.u, b.h, len(joined(pieces(b.h, b.u))), api.OK)
 	b = ofB()
 	b.h.Active0, b.h.Active1 = 8, 8
 	b.h.Weights0, b.h.Weights1 = make([]api.Weight, 8), make([]api.Weight, 8)
@@ -292,7 +293,7 @@ func TestReadAtLimits(t *testing.T) {
 		b.h.Mods0[i], b.h.Mods1[i] = api.Mod{Kind: 2, V: 255 - i}, api.Mod{Kind: i % 3, V: i}
 		b.h.Weights0[i/2], b.h.Weights1[i/2] = weight(i), weight(-i)
 	}
-	asksGet(t, packed(joined(pieces(b.h, b.u))), 0, b.u, b.h, len(joined(pieces(b.h, b.u))), api.OK)
+	asksGet(t, digits.Packed(joined(pieces(b.h, b.u))), 0, b.u, b.h, len(joined(pieces(b.h, b.u))), api.OK)
 }
 
 // P4.2: no byte at all, noughts and ones without end.

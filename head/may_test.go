@@ -6,6 +6,7 @@ import (
 
 	"zoetrope/api"
 	"zoetrope/bits"
+	"zoetrope/digits"
 	"zoetrope/head"
 )
 
@@ -22,8 +23,8 @@ func asks(t *testing.T, h api.Head, u unit, want bool) {
 	if want {
 		row, code = row+joined(pieces(h, u)), api.OK
 	}
-	if got := head.Put(w, h, u.s, u.p, u.ref, u.key); got != code || w.Len() != len(row) || w.Bytes() != packed(row) {
-		t.Errorf("P4.2: Put of %s of %+v: %d, %s, want %d, %s", shown(h), u, got, spread(w.Bytes()), code, row)
+	if got := head.Put(w, h, u.s, u.p, u.ref, u.key); got != code || w.Len() != len(row) || w.Bytes() != digits.Packed(row) {
+		t.Errorf("P4.2: Put of %s of %+v: %d, %s, want %d, %s", shown(h), u, got, digits.Spread(w.Bytes()), code, row)
 	}
 }
 
@@ -402,7 +403,7 @@ func TestNoHeadersAtAll(t *testing.T) {
 			row := joined(pieces(b.h, b.u))
 			change(&b.u)
 			asks(t, b.h, b.u, false)
-			for _, s := range []string{"", packed(row), packed(row[:9]), packed(tooLong), packed("11" + ue(9))} {
+			for _, s := range []string{"", digits.Packed(row), digits.Packed(row[:9]), digits.Packed(digits.TooLong), digits.Packed("11" + digits.Ue(9))} {
 				asksGet(t, s, 0, b.u, api.Head{}, 0, api.ErrHeadRange)
 			}
 			if code := head.Put(nil, b.h, b.u.s, b.u.p, b.u.ref, b.u.key); code != api.ErrNil {

@@ -3,76 +3,13 @@ package head_test
 import (
 	"fmt"
 	"slices"
-	"strconv"
-	"strings"
 
 	"zoetrope/api"
+	"zoetrope/digits"
 )
 
 // The model writes and reads headers as a text of '0' and '1', by the words of
 // chapters 1 and 4 alone.
-
-const greatestUe = 1<<31 - 2
-
-// tooLong is a number that is none of layer 1's: 31 noughts ahead of its first 1.
-var tooLong = strings.Repeat("0", 31) + strings.Repeat("1", 32)
-
-// plain: x as n bits.
-func plain(x, n int) string {
-	digits := strings.Repeat("0", n) + strconv.FormatInt(int64(x), 2)
-	return digits[len(digits)-n:]
-}
-
-// ue: x + 1 in digits, ahead of it as many noughts as digits behind its first.
-func ue(xs ...int) string {
-	row := ""
-	for _, x := range xs {
-		digits := strconv.FormatInt(int64(x)+1, 2)
-		row += strings.Repeat("0", len(digits)-1) + digits
-	}
-	return row
-}
-
-// se: Ue of 2 x - 1 above 0, else of -2 x.
-func se(xs ...int) string {
-	row := ""
-	for _, x := range xs {
-		if x > 0 {
-			row += ue(2*x - 1)
-		} else {
-			row += ue(-2 * x)
-		}
-	}
-	return row
-}
-
-// flag: a bit.
-func flag(on bool) string {
-	if on {
-		return "1"
-	}
-	return "0"
-}
-
-// packed: bytes of a text of bits, the highest first, with noughts behind.
-func packed(row string) string {
-	out := make([]byte, (len(row)+7)/8)
-	for i := range len(row) {
-		if row[i] == '1' {
-			out[i/8] |= 0x80 >> (i % 8)
-		}
-	}
-	return string(out)
-}
-
-// spread: the text of bits of s.
-func spread(s string) string {
-	var b strings.Builder
-	for i := range len(s) {
-		b.WriteString(plain(int(s[i]), 8))
-	}
-	return b.String()
-}
 
 // unit is what a header hangs on.
 type unit struct {
@@ -92,64 +29,64 @@ type piece struct {
 func pieces(h api.Head, u unit) []piece {
 	var row []piece
 	put := func(way, text string) { row = append(row, piece{way, text}) }
-	put("ue", ue(h.First))
-	put("ue", ue(h.Count-1))
-	put("ue", ue(h.Type))
-	put("bits", plain(h.FrameNum, u.s.FrameBits))
+	put("ue", digits.Ue(h.First))
+	put("ue", digits.Ue(h.Count-1))
+	put("ue", digits.Ue(h.Type))
+	put("bits", digits.Plain(h.FrameNum, u.s.FrameBits))
 	if u.key {
-		put("ue", ue(h.Id))
+		put("ue", digits.Ue(h.Id))
 	}
 	if u.s.PocType == 0 {
-		put("bits", plain(h.Poc, u.s.PocBits))
+		put("bits", digits.Plain(h.Poc, u.s.PocBits))
 	}
 	switch h.Type {
 	case api.SliceP:
-		put("ue", ue(h.Active0-1))
+		put("ue", digits.Ue(h.Active0-1))
 	case api.SliceB:
-		put("bits", flag(h.Spatial))
-		put("ue", ue(h.Active0-1))
-		put("ue", ue(h.Active1-1))
+		put("bits", digits.Flag(h.Spatial))
+		put("ue", digits.Ue(h.Active0-1))
+		put("ue", digits.Ue(h.Active1-1))
 	}
 	for i, mods := range [][]api.Mod{h.Mods0, h.Mods1} {
 		if i == 0 && h.Type == api.SliceP || h.Type == api.SliceB {
-			put("ue", ue(len(mods)))
+			put("ue", digits.Ue(len(mods)))
 			for _, m := range mods {
-				put("ue", ue(m.Kind))
-				put("ue", ue(m.V))
+				put("ue", digits.Ue(m.Kind))
+				put("ue", digits.Ue(m.V))
 			}
 		}
 	}
 	if weighted(h.Type, u.p) {
-		put("ue", ue(h.Log))
-		put("ue", ue(h.LogC))
+		put("ue", digits.Ue(h.Log))
+		put("ue", digits.Ue(h.LogC))
 		for _, w := range slices.Concat(h.Weights0, h.Weights1) {
 			for i := range 3 {
-				put("se", se(w.Scale[i]))
-				put("se", se(w.Offset[i]))
+				put("se", digits.Se(w.Scale[i]))
+				put("se", digits.Se(w.Offset[i]))
 			}
 		}
 	}
 	if u.ref > 0 && u.key {
-		put("bits", flag(h.LongKey))
+		put("bits", digits.Flag(h.LongKey))
 	}
 	if u.ref > 0 && !u.key {
-		put("ue", ue(len(h.Ops)))
+		put("ue", digits.Ue(len(h.Ops)))
 		for _, o := range h.Ops {
-			put("ue", ue(o.Kind))
+			put("ue", digits.Ue(o.Kind))
 			if a, b := has(o.Kind); b {
-				put("ue", ue(o.A))
-				put("ue", ue(o.B))
+				put("ue", digits.Ue(o.A))
+				put("ue", digits.Ue(o.B))
 			} else if a {
-				put("ue", ue(o.A))
+				put("ue", digits.Ue(o.A))
 			}
 		}
 	}
-	put("ue", ue(h.Qp))
+	put("ue", digits.Ue(h.Qp))
 	if u.p.Deblock {
-		put("bits", flag(h.Off))
+		put("bits", digits.Flag(h.Off))
 		if !h.Off {
-			put("se", se(h.A))
-			put("se", se(h.B))
+			put("se", digits.Se(h.A))
+			put("se", digits.Se(h.B))
 		}
 	}
 	return row
@@ -256,34 +193,20 @@ func wantEdges(h api.Head, p api.Pps) bool {
 	return h.Off && h.A == 0 && h.B == 0 || !h.Off && within(-6, 6, h.A, h.B)
 }
 
-// left is what is left of a text of bits. What isn't there is thrown.
+// left is what is left of a row. What isn't there is thrown.
 type left struct {
-	row string
+	digits.Left
 }
 
-func (l *left) plain(n int) int {
-	if n > len(l.row) {
+func (l *left) plain(n int) int { return l.there(l.Plain(n)) }
+func (l *left) ue() int         { return l.there(l.Ue()) }
+func (l *left) se() int         { return l.there(l.Se()) }
+
+func (l *left) there(x int) int {
+	if l.Code != api.OK {
 		panic(api.ErrHeadForm)
 	}
-	x, _ := strconv.ParseInt("0"+l.row[:n], 2, 64)
-	l.row = l.row[n:]
-	return int(x)
-}
-
-func (l *left) ue() int {
-	noughts := len(l.row) - len(strings.TrimLeft(l.row, "0"))
-	if noughts > 30 {
-		panic(api.ErrHeadForm)
-	}
-	return l.plain(2*noughts+1) - 1
-}
-
-func (l *left) se() int {
-	if x := l.ue(); x%2 == 1 {
-		return (x + 1) / 2
-	} else {
-		return -x / 2
-	}
+	return x
 }
 
 // upTo holds x against what is told at once.
@@ -296,7 +219,7 @@ func upTo(x, least, most int) int {
 
 // readHead: what Get is asked to answer, and how many bits are behind it.
 func readHead(row string, u unit) (h api.Head, used int, code api.Errno) {
-	l := &left{row}
+	l := &left{digits.Left{Row: row}}
 	defer func() {
 		if fault, is := recover().(api.Errno); is {
 			h, used, code = api.Head{}, 0, fault
@@ -330,7 +253,7 @@ func readHead(row string, u unit) (h api.Head, used int, code api.Errno) {
 	if !wantMay(h, u) {
 		panic(api.ErrHeadRange)
 	}
-	return h, len(row) - len(l.row), api.OK
+	return h, len(row) - len(l.Row), api.OK
 }
 
 func readStart(l *left, h *api.Head, u unit) {

@@ -7,6 +7,7 @@ import (
 
 	"zoetrope/api"
 	"zoetrope/dice"
+	"zoetrope/digits"
 	"zoetrope/params"
 )
 
@@ -119,9 +120,9 @@ func TestAnyBytes(t *testing.T) {
 func TestAnyNumbers(t *testing.T) {
 	c := chance{10}
 	for range 20000 {
-		row := ue(c.Below(9), c.Below(9), c.Below(6), c.Below(4))
+		row := digits.Ue(c.Below(9), c.Below(9), c.Below(6), c.Below(4))
 		for range c.Below(9) {
-			row += ue(c.Below(1 << c.Below(12)))
+			row += digits.Ue(c.Below(1 << c.Below(12)))
 		}
 		asksAny(t, trailed(row))
 	}

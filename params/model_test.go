@@ -3,96 +3,37 @@ package params_test
 import (
 	"fmt"
 	"slices"
-	"strconv"
 	"strings"
 
 	"zoetrope/api"
 	"zoetrope/dice"
+	"zoetrope/digits"
 )
 
 // The model writes and reads bits as a text of '0' and '1', by the words of
 // chapters 1 and 3 alone.
 
-const greatestUe = 1<<31 - 2
-
-// plain: x as n bits.
-func plain(x, n int) string {
-	digits := strings.Repeat("0", n) + strconv.FormatInt(int64(x), 2)
-	return digits[len(digits)-n:]
-}
-
-// ue: x + 1 in digits, ahead of it as many noughts as digits behind its first.
-func ue(xs ...int) string {
-	row := ""
-	for _, x := range xs {
-		digits := strconv.FormatInt(int64(x)+1, 2)
-		row += strings.Repeat("0", len(digits)-1) + digits
-	}
-	return row
-}
-
-// se: Ue of 2 x - 1 above 0, else of -2 x.
-func se(xs ...int) string {
-	row := ""
-	for _, x := range xs {
-		if x > 0 {
-			row += ue(2*x - 1)
-		} else {
-			row += ue(-2 * x)
-		}
-	}
-	return row
-}
-
-// flag: a bit.
-func flag(on bool) string {
-	if on {
-		return "1"
-	}
-	return "0"
-}
-
-// packed: bytes of a text of bits, the highest first, with noughts behind.
-func packed(row string) string {
-	out := make([]byte, (len(row)+7)/8)
-	for i := range len(row) {
-		if row[i] == '1' {
-			out[i/8] |= 0x80 >> (i % 8)
-		}
-	}
-	return string(out)
-}
-
 // trailed: bytes of a text of bits with a 1 behind it.
 func trailed(row string) string {
-	return packed(row + "1")
-}
-
-// spread: the text of bits of s.
-func spread(s string) string {
-	var b strings.Builder
-	for i := range len(s) {
-		b.WriteString(plain(int(s[i]), 8))
-	}
-	return b.String()
+	return digits.Packed(row + "1")
 }
 
 // spsRow: the bits of s ahead of the trail, whatever its numbers are.
 func spsRow(s api.Sps) string {
-	row := ue(s.Wide-1, s.High-1, s.FrameBits-4, s.PocType)
+	row := digits.Ue(s.Wide-1, s.High-1, s.FrameBits-4, s.PocType)
 	if s.PocType == 0 {
-		row += ue(s.PocBits - 4)
+		row += digits.Ue(s.PocBits - 4)
 	}
 	if s.PocType == 1 {
-		row += se(s.NonRef) + ue(len(s.Cycle)) + se(s.Cycle...)
+		row += digits.Se(s.NonRef) + digits.Ue(len(s.Cycle)) + digits.Se(s.Cycle...)
 	}
-	return row + ue(s.Refs, s.Delay)
+	return row + digits.Ue(s.Refs, s.Delay)
 }
 
 // ppsRow: the bits of p ahead of the trail, whatever its numbers are.
 func ppsRow(p api.Pps) string {
-	return flag(p.Cabac) + flag(p.Weighted) + plain(p.BiPred, 2) + ue(p.Qp) + se(p.ChromaQp) +
-		flag(p.Constrained) + flag(p.Deblock) + ue(p.Active0-1, p.Active1-1)
+	return digits.Flag(p.Cabac) + digits.Flag(p.Weighted) + digits.Plain(p.BiPred, 2) + digits.Ue(p.Qp) + digits.Se(p.ChromaQp) +
+		digits.Flag(p.Constrained) + digits.Flag(p.Deblock) + digits.Ue(p.Active0-1, p.Active1-1)
 }
 
 // within tells if each of xs is from a to b.
@@ -124,63 +65,30 @@ func wantPps(p api.Pps) bool {
 	return within(0, 2, p.BiPred) && within(0, 51, p.Qp) && within(-12, 12, p.ChromaQp) && within(1, 8, p.Active0, p.Active1)
 }
 
-// left is what is left of a text of bits, and whether something was not there.
-type left struct {
-	row string
-	bad bool
-}
-
-func (l *left) plain(n int) int {
-	if l.bad || n > len(l.row) {
-		l.bad = true
-		return 0
-	}
-	x, _ := strconv.ParseInt(l.row[:n], 2, 64)
-	l.row = l.row[n:]
-	return int(x)
-}
-
-func (l *left) ue() int {
-	noughts := len(l.row) - len(strings.TrimLeft(l.row, "0"))
-	if l.bad || noughts > 30 || 2*noughts+1 > len(l.row) {
-		l.bad = true
-		return 0
-	}
-	return l.plain(2*noughts+1) - 1
-}
-
-func (l *left) se() int {
-	x := l.ue()
-	if x%2 == 1 {
-		return (x + 1) / 2
-	}
-	return -x / 2
-}
-
-// ends: are there just a 1 and fewer than 8 noughts?
-func (l *left) ends() bool {
-	return !l.bad && len(l.row) <= 8 && strings.TrimRight(l.row, "0") == "1"
+// ends: is all there, and are there just a 1 and fewer than 8 noughts behind it?
+func ends(l *digits.Left) bool {
+	return l.Code == api.OK && len(l.Row) <= 8 && strings.TrimRight(l.Row, "0") == "1"
 }
 
 // readSps: what GetSps is asked to answer.
 func readSps(x string) (api.Sps, api.Errno) {
-	l := &left{row: spread(x)}
-	s := api.Sps{Wide: l.ue() + 1, High: l.ue() + 1, FrameBits: l.ue() + 4, PocType: l.ue(), PocBits: 4}
+	l := &digits.Left{Row: digits.Spread(x)}
+	s := api.Sps{Wide: l.Ue() + 1, High: l.Ue() + 1, FrameBits: l.Ue() + 4, PocType: l.Ue(), PocBits: 4}
 	if s.PocType == 0 {
-		s.PocBits = l.ue() + 4
+		s.PocBits = l.Ue() + 4
 	}
 	if s.PocType == 1 {
-		s.NonRef = l.se()
-		many := l.ue()
+		s.NonRef = l.Se()
+		many := l.Ue()
 		if many > 4 {
 			return api.Sps{}, api.ErrParamsRange
 		}
 		for range many {
-			s.Cycle = append(s.Cycle, l.se())
+			s.Cycle = append(s.Cycle, l.Se())
 		}
 	}
-	s.Refs, s.Delay = l.ue(), l.ue()
-	if !l.ends() {
+	s.Refs, s.Delay = l.Ue(), l.Ue()
+	if !ends(l) {
 		return api.Sps{}, api.ErrParamsForm
 	}
 	if !wantSps(s) {
@@ -191,10 +99,10 @@ func readSps(x string) (api.Sps, api.Errno) {
 
 // readPps: what GetPps is asked to answer.
 func readPps(x string) (api.Pps, api.Errno) {
-	l := &left{row: spread(x)}
-	p := api.Pps{Cabac: l.plain(1) == 1, Weighted: l.plain(1) == 1, BiPred: l.plain(2), Qp: l.ue(), ChromaQp: l.se(),
-		Constrained: l.plain(1) == 1, Deblock: l.plain(1) == 1, Active0: l.ue() + 1, Active1: l.ue() + 1}
-	if !l.ends() {
+	l := &digits.Left{Row: digits.Spread(x)}
+	p := api.Pps{Cabac: l.Plain(1) == 1, Weighted: l.Plain(1) == 1, BiPred: l.Plain(2), Qp: l.Ue(), ChromaQp: l.Se(),
+		Constrained: l.Plain(1) == 1, Deblock: l.Plain(1) == 1, Active0: l.Ue() + 1, Active1: l.Ue() + 1}
+	if !ends(l) {
 		return api.Pps{}, api.ErrParamsForm
 	}
 	if !wantPps(p) {

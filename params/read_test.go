@@ -5,6 +5,7 @@ import (
 	"testing"
 
 	"zoetrope/api"
+	"zoetrope/digits"
 	"zoetrope/params"
 )
 
@@ -83,7 +84,7 @@ func asksCut(t *testing.T, row string, get func(x string) api.Errno, want func(x
 		}
 	}
 	for k := range row {
-		for _, x := range []string{packed(row[:k]), trailed(row[:k]), packed(row[:k] + "11"), packed(row[:k] + "1" + row[k:])} {
+		for _, x := range []string{digits.Packed(row[:k]), trailed(row[:k]), digits.Packed(row[:k] + "11"), digits.Packed(row[:k] + "1" + row[k:])} {
 			if code := get(x); code != want(x) {
 				t.Errorf("P3.2: %q: %d, want %d", x, code, want(x))
 			}
@@ -139,8 +140,8 @@ func TestTrails(t *testing.T) {
 			if x == 1<<last {
 				want = api.OK
 			}
-			if code := c.get(packed(c.row + plain(x, last+1))); code != want {
-				t.Errorf("P3.2: row %d: trail %s: %d, want %d", i, plain(x, last+1), code, want)
+			if code := c.get(digits.Packed(c.row + digits.Plain(x, last+1))); code != want {
+				t.Errorf("P3.2: row %d: trail %s: %d, want %d", i, digits.Plain(x, last+1), code, want)
 			}
 		}
 		for _, more := range []string{"\x00", "\x80", strings.Repeat("\x00", api.MaxBytes)} {
@@ -159,40 +160,37 @@ func TestNoParams(t *testing.T) {
 	}
 }
 
-// tooLong is a number that is none of Ue's: 31 noughts ahead of its first 1.
-var tooLong = strings.Repeat("0", 31) + strings.Repeat("1", 32)
-
 // P3.2, R6: a number that no code tells is a fault of form, at each place, and
 // ahead of any range; so is an end within. A number far beyond its range is not.
 func TestNumbersOfNoForm(t *testing.T) {
 	for i, codes := range [][]string{
-		{ue(2), ue(4), ue(2), ue(0), ue(3), ue(4), ue(2)},
-		{ue(2), ue(4), ue(2), ue(1), se(-7), ue(2), se(5), se(-5), ue(4), ue(2)},
-		{ue(2), ue(4), ue(2), ue(2), ue(4), ue(0)},
-		{ue(8), ue(4), ue(2), ue(0), ue(3), ue(9), ue(2)},
-		{ue(2), ue(4), ue(2), ue(3), ue(4), ue(2)},
+		{digits.Ue(2), digits.Ue(4), digits.Ue(2), digits.Ue(0), digits.Ue(3), digits.Ue(4), digits.Ue(2)},
+		{digits.Ue(2), digits.Ue(4), digits.Ue(2), digits.Ue(1), digits.Se(-7), digits.Ue(2), digits.Se(5), digits.Se(-5), digits.Ue(4), digits.Ue(2)},
+		{digits.Ue(2), digits.Ue(4), digits.Ue(2), digits.Ue(2), digits.Ue(4), digits.Ue(0)},
+		{digits.Ue(8), digits.Ue(4), digits.Ue(2), digits.Ue(0), digits.Ue(3), digits.Ue(9), digits.Ue(2)},
+		{digits.Ue(2), digits.Ue(4), digits.Ue(2), digits.Ue(3), digits.Ue(4), digits.Ue(2)},
 	} {
 		for k := range codes {
 			ahead := strings.Join(codes[:k], "")
 			behind := strings.Join(codes[k+1:], "")
-			asksGetSps(t, trailed(ahead+tooLong+behind), api.Sps{}, api.ErrParamsForm)
-			asksGetSps(t, packed(ahead), api.Sps{}, api.ErrParamsForm)
-			if x := trailed(ahead + ue(greatestUe) + behind); i < 3 && k != 3 {
+			asksGetSps(t, trailed(ahead+digits.TooLong+behind), api.Sps{}, api.ErrParamsForm)
+			asksGetSps(t, digits.Packed(ahead), api.Sps{}, api.ErrParamsForm)
+			if x := trailed(ahead + digits.Ue(digits.GreatestUe) + behind); i < 3 && k != 3 {
 				asksGetSps(t, x, api.Sps{}, api.ErrParamsRange)
 			}
 		}
 	}
 	for _, codes := range [][]string{
-		{"1001", ue(26), se(-3), "10", ue(2), ue(1)},
-		{"1011", ue(52), se(-13), "10", ue(2), ue(1)},
+		{"1001", digits.Ue(26), digits.Se(-3), "10", digits.Ue(2), digits.Ue(1)},
+		{"1011", digits.Ue(52), digits.Se(-13), "10", digits.Ue(2), digits.Ue(1)},
 	} {
 		for k := range codes {
 			ahead := strings.Join(codes[:k], "")
 			behind := strings.Join(codes[k+1:], "")
-			asksGetPps(t, packed(ahead), api.Pps{}, api.ErrParamsForm)
+			asksGetPps(t, digits.Packed(ahead), api.Pps{}, api.ErrParamsForm)
 			if k != 0 && k != 3 {
-				asksGetPps(t, trailed(ahead+tooLong+behind), api.Pps{}, api.ErrParamsForm)
-				asksGetPps(t, trailed(ahead+ue(greatestUe)+behind), api.Pps{}, api.ErrParamsRange)
+				asksGetPps(t, trailed(ahead+digits.TooLong+behind), api.Pps{}, api.ErrParamsForm)
+				asksGetPps(t, trailed(ahead+digits.Ue(digits.GreatestUe)+behind), api.Pps{}, api.ErrParamsRange)
 			}
 		}
 	}
@@ -203,7 +201,7 @@ func TestNumbersOfNoForm(t *testing.T) {
 func TestNothingIsReadBehindAFault(t *testing.T) {
 	for noughts := 31; noughts <= 34; noughts++ {
 		behind := noughts - 2
-		row := "1001" + strings.Repeat("0", noughts) + "1" + strings.Repeat("0", behind) + ue(0)
+		row := "1001" + strings.Repeat("0", noughts) + "1" + strings.Repeat("0", behind) + digits.Ue(0)
 		asksGetPps(t, trailed(row), api.Pps{}, api.ErrParamsForm)
 	}
 }
@@ -218,7 +216,7 @@ func TestReadBeyondRanges(t *testing.T) {
 		func(s *api.Sps) { s.Refs = 9 },
 		func(s *api.Sps) { s.Delay = 5 },
 		func(s *api.Sps) { s.PocType = 3 },
-		func(s *api.Sps) { s.PocType = greatestUe },
+		func(s *api.Sps) { s.PocType = digits.GreatestUe },
 		func(s *api.Sps) { s.PocType, s.PocBits = 0, 9 },
 		func(s *api.Sps) { s.PocType = 2 },
 		func(s *api.Sps) { s.NonRef = 1001 },
@@ -229,7 +227,7 @@ func TestReadBeyondRanges(t *testing.T) {
 		s := cycled()
 		change(&s)
 		asksGetSps(t, trailed(spsRow(s)), api.Sps{}, api.ErrParamsRange)
-		asksGetSps(t, packed(spsRow(s)), api.Sps{}, api.ErrParamsForm)
+		asksGetSps(t, digits.Packed(spsRow(s)), api.Sps{}, api.ErrParamsForm)
 	}
 	for _, change := range []func(p *api.Pps){
 		func(p *api.Pps) { p.BiPred = 3 },
@@ -249,28 +247,28 @@ func TestReadBeyondRanges(t *testing.T) {
 // P3.2: a Cycle of each size is read; one above 4 is told at once, whatever is
 // behind it, but not ahead of a fault that stands ahead of it.
 func TestReadCycles(t *testing.T) {
-	start := ue(0, 0, 0, 1) + se(-7)
+	start := digits.Ue(0, 0, 0, 1) + digits.Se(-7)
 	for many := range 5 {
 		s := api.Sps{Wide: 1, High: 1, FrameBits: 4, PocType: 1, PocBits: 4, NonRef: -7, Refs: 2, Delay: 1}
-		row := start + ue(many)
+		row := start + digits.Ue(many)
 		for i := range many {
 			s.Cycle = append(s.Cycle, 10-7*i)
-			row += se(10 - 7*i)
+			row += digits.Se(10 - 7*i)
 		}
-		asksGetSps(t, trailed(row+ue(2, 1)), s, api.OK)
-		asksGetSps(t, packed(row), api.Sps{}, api.ErrParamsForm)
+		asksGetSps(t, trailed(row+digits.Ue(2, 1)), s, api.OK)
+		asksGetSps(t, digits.Packed(row), api.Sps{}, api.ErrParamsForm)
 	}
-	for _, many := range []int{5, 6, 1000, 1 << 20, greatestUe} {
-		for _, behind := range []string{"", "1", se(1, 2, 3, 4, 5) + ue(2, 1) + "1", tooLong} {
-			asksGetSps(t, packed(start+ue(many)+behind), api.Sps{}, api.ErrParamsRange)
-			asksGetSps(t, packed(ue(8, 9, 5, 1)+se(5000)+ue(many)+behind), api.Sps{}, api.ErrParamsRange)
-			asksGetSps(t, packed(ue(0, 0, 0, 1)+tooLong+ue(many)+behind), api.Sps{}, api.ErrParamsForm)
+	for _, many := range []int{5, 6, 1000, 1 << 20, digits.GreatestUe} {
+		for _, behind := range []string{"", "1", digits.Se(1, 2, 3, 4, 5) + digits.Ue(2, 1) + "1", digits.TooLong} {
+			asksGetSps(t, digits.Packed(start+digits.Ue(many)+behind), api.Sps{}, api.ErrParamsRange)
+			asksGetSps(t, digits.Packed(digits.Ue(8, 9, 5, 1)+digits.Se(5000)+digits.Ue(many)+behind), api.Sps{}, api.ErrParamsRange)
+			asksGetSps(t, digits.Packed(digits.Ue(0, 0, 0, 1)+digits.TooLong+digits.Ue(many)+behind), api.Sps{}, api.ErrParamsForm)
 		}
 	}
-	asksGetSps(t, packed(start+ue(1000)[:8]), api.Sps{}, api.ErrParamsForm)
-	asksGetSps(t, packed(start+tooLong), api.Sps{}, api.ErrParamsForm)
+	asksGetSps(t, digits.Packed(start+digits.Ue(1000)[:8]), api.Sps{}, api.ErrParamsForm)
+	asksGetSps(t, digits.Packed(start+digits.TooLong), api.Sps{}, api.ErrParamsForm)
 	// A number that other PocTypes have in its place is no Cycle's size.
-	asksGetSps(t, trailed(ue(0, 0, 0, 2)+ue(5, 0)), api.Sps{Wide: 1, High: 1, FrameBits: 4, PocType: 2, PocBits: 4, Refs: 5}, api.OK)
+	asksGetSps(t, trailed(digits.Ue(0, 0, 0, 2)+digits.Ue(5, 0)), api.Sps{Wide: 1, High: 1, FrameBits: 4, PocType: 2, PocBits: 4, Refs: 5}, api.OK)
 }
 
 // P3.2: PocBits of another PocType is 4.
